@@ -7,6 +7,7 @@ import (
 
 	"chancery/api"
 	"chancery/der"
+	"chancery/probe"
 )
 
 // P1.6: what is one element, and how many there are in it.
@@ -30,7 +31,7 @@ func TestCheck(t *testing.T) {
 		{"30 09 30 02 05 00 02 01 05 30 00", 2, 5},
 		{"30 06 30 04 30 02 30 00", 3, 4},
 	} {
-		if n, at, e := der.Check(raw(t, c.b), c.deep); n != c.count || at != 0 || e != api.OK {
+		if n, at, e := der.Check(probe.Raw(c.b), c.deep); n != c.count || at != 0 || e != api.OK {
 			t.Errorf("Check(%s, %d): %d, %d, error %d; want %d", c.b, c.deep, n, at, e, c.count)
 		}
 	}
@@ -66,18 +67,18 @@ func TestCheckFaults(t *testing.T) {
 		{"30 06 30 04 05 00 05 00", 1, 4, api.ErrDeep},
 		{"30 05 05", 9, 0, api.ErrShort},
 	} {
-		if n, at, e := der.Check(raw(t, c.b), c.deep); n != 0 || at != c.at || e != c.want {
+		if n, at, e := der.Check(probe.Raw(c.b), c.deep); n != 0 || at != c.at || e != c.want {
 			t.Errorf("Check(%s, %d): %d, %d, error %d; want %d, error %d", c.b, c.deep, n, at, e, c.at, c.want)
 		}
 	}
 	for _, f := range faults {
-		if n, at, e := der.Check(raw(t, f.b), 0); n != 0 || at != 0 || e != f.want {
+		if n, at, e := der.Check(probe.Raw(f.b), 0); n != 0 || at != 0 || e != f.want {
 			t.Errorf("Check(%s, 0): %d, %d, error %d; want error %d", f.b, n, at, e, f.want)
 		}
 		if f.b == "" {
 			continue
 		}
-		inner := put(t, 0x30, raw(t, "05 00"), raw(t, f.b))
+		inner := put(t, 0x30, probe.Raw("05 00"), probe.Raw(f.b))
 		if n, at, e := der.Check(inner, 1); n != 0 || at != 4 || e != f.want {
 			t.Errorf("Check(%x, 1): %d, %d, error %d; want error %d", inner, n, at, e, f.want)
 		}

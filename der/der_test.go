@@ -2,24 +2,13 @@ package der_test
 
 import (
 	"bytes"
-	"encoding/hex"
 	"math"
-	"strings"
 	"testing"
 
 	"chancery/api"
 	"chancery/der"
+	"chancery/probe"
 )
-
-// raw makes bytes of digits to the base 16; blanks between them count for nothing.
-func raw(t *testing.T, digits string) []byte {
-	t.Helper()
-	b, err := hex.DecodeString(strings.ReplaceAll(digits, " ", ""))
-	if err != nil {
-		t.Fatal(err)
-	}
-	return b
-}
 
 // put is Put behind no bytes, of what must be an element.
 func put(t *testing.T, tag int, content ...[]byte) []byte {
@@ -79,9 +68,9 @@ func TestPut(t *testing.T) {
 	} {
 		var l [][]byte
 		for _, s := range c.content {
-			l = append(l, raw(t, s))
+			l = append(l, probe.Raw(s))
 		}
-		if b, e := der.Put(raw(t, c.b), c.tag, l...); e != api.OK || !bytes.Equal(b, raw(t, c.want)) {
+		if b, e := der.Put(probe.Raw(c.b), c.tag, l...); e != api.OK || !bytes.Equal(b, probe.Raw(c.want)) {
 			t.Errorf("Put(%s, %d, %v): %x, error %d; want %s", c.b, c.tag, c.content, b, e, c.want)
 		}
 	}
@@ -91,7 +80,7 @@ func TestPut(t *testing.T) {
 func TestPutLengths(t *testing.T) {
 	for _, h := range heads {
 		content := filled(h.n)
-		want := append(raw(t, "aa04"+h.head), content...)
+		want := append(probe.Raw("aa04"+h.head), content...)
 		cut := h.n / 3
 		one, e1 := der.Put([]byte{0xaa}, 4, content)
 		two, e2 := der.Put([]byte{0xaa}, 4, content[:cut], content[cut:])
@@ -223,13 +212,13 @@ func TestTake(t *testing.T) {
 		{"30 03 02 01 05 05 00", 0x30, "020105", 5},
 		{"30 01 1f", 0x30, "1f", 3}, // what a content is made of is not asked
 	} {
-		x, n, e := der.Take(raw(t, c.b))
-		if e != api.OK || n != c.n || !same(x, api.Element{Tag: c.tag, Content: raw(t, c.content)}) {
+		x, n, e := der.Take(probe.Raw(c.b))
+		if e != api.OK || n != c.n || !same(x, api.Element{Tag: c.tag, Content: probe.Raw(c.content)}) {
 			t.Errorf("Take(%s): %v, %d, error %d", c.b, x, n, e)
 		}
 	}
 	for _, f := range faults {
-		if x, n, e := der.Take(raw(t, f.b)); e != f.want || n != 0 || !zero(x) {
+		if x, n, e := der.Take(probe.Raw(f.b)); e != f.want || n != 0 || !zero(x) {
 			t.Errorf("Take(%s): %v, %d, error %d; want error %d", f.b, x, n, e, f.want)
 		}
 	}
@@ -242,7 +231,7 @@ func TestTake(t *testing.T) {
 func TestTakeLengths(t *testing.T) {
 	for _, h := range heads {
 		content := filled(h.n)
-		b := append(raw(t, "04"+h.head), content...)
+		b := append(probe.Raw("04"+h.head), content...)
 		for _, behind := range [][]byte{b, append(b, 0x99)} {
 			x, n, e := der.Take(behind)
 			if e != api.OK || n != len(b) || !same(x, api.Element{Tag: 4, Content: content}) {
@@ -253,7 +242,7 @@ func TestTakeLengths(t *testing.T) {
 			t.Errorf("%d bytes, one too few: %d in all, error %d", h.n, n, e)
 		}
 	}
-	long := append(raw(t, "04 84 01 00 00 00"), make([]byte, api.MaxContent+1)...)
+	long := append(probe.Raw("04 84 01 00 00 00"), make([]byte, api.MaxContent+1)...)
 	if x, n, e := der.Take(long); e != api.ErrLength || n != 0 || !zero(x) {
 		t.Errorf("one above MaxContent: %d in all, error %d", n, e)
 	}
@@ -261,19 +250,19 @@ func TestTakeLengths(t *testing.T) {
 
 // P1.3
 func TestOne(t *testing.T) {
-	if x, e := der.One(raw(t, "04 01 07")); e != api.OK || !same(x, api.Element{Tag: 4, Content: []byte{7}}) {
+	if x, e := der.One(probe.Raw("04 01 07")); e != api.OK || !same(x, api.Element{Tag: 4, Content: []byte{7}}) {
 		t.Errorf("04 01 07: %v, error %d", x, e)
 	}
-	if x, e := der.One(raw(t, "05 00")); e != api.OK || !same(x, api.Element{Tag: 5}) {
+	if x, e := der.One(probe.Raw("05 00")); e != api.OK || !same(x, api.Element{Tag: 5}) {
 		t.Errorf("05 00: %v, error %d", x, e)
 	}
 	for _, s := range []string{"04 01 07 99", "05 00 00", "05 00 05 00", "05 00 1f"} {
-		if x, e := der.One(raw(t, s)); e != api.ErrRest || !zero(x) {
+		if x, e := der.One(probe.Raw(s)); e != api.ErrRest || !zero(x) {
 			t.Errorf("One(%s): %v, error %d", s, x, e)
 		}
 	}
 	for _, f := range faults {
-		if x, e := der.One(raw(t, f.b)); e != f.want || !zero(x) {
+		if x, e := der.One(probe.Raw(f.b)); e != f.want || !zero(x) {
 			t.Errorf("One(%s): %v, error %d; want error %d", f.b, x, e, f.want)
 		}
 	}
@@ -281,7 +270,7 @@ func TestOne(t *testing.T) {
 		t.Errorf("One(nil): %v, error %d", x, e)
 	}
 	for _, h := range heads {
-		b := append(raw(t, "04"+h.head), filled(h.n)...)
+		b := append(probe.Raw("04"+h.head), filled(h.n)...)
 		if x, e := der.One(b); e != api.OK || len(x.Content) != h.n {
 			t.Errorf("%d bytes: error %d", h.n, e)
 		}
@@ -293,7 +282,7 @@ func TestOne(t *testing.T) {
 
 // P1.4
 func TestAll(t *testing.T) {
-	l, n, e := der.All(raw(t, "04 00 05 00"))
+	l, n, e := der.All(probe.Raw("04 00 05 00"))
 	if e != api.OK || n != 4 || len(l) != 2 || !same(l[0], api.Element{Tag: 4}) || !same(l[1], api.Element{Tag: 5}) {
 		t.Errorf("04 00 05 00: %v, %d, error %d", l, n, e)
 	}
@@ -302,11 +291,11 @@ func TestAll(t *testing.T) {
 			t.Errorf("no byte: %v, %d, error %d", l, n, e)
 		}
 	}
-	if l, n, e := der.All(raw(t, "04 00 05")); e != api.ErrShort || n != 2 || l != nil {
+	if l, n, e := der.All(probe.Raw("04 00 05")); e != api.ErrShort || n != 2 || l != nil {
 		t.Errorf("04 00 05: %v, %d, error %d", l, n, e)
 	}
 	long := put(t, 4, filled(300))
-	b := append(raw(t, "02 01 05"), long...)
+	b := append(probe.Raw("02 01 05"), long...)
 	if l, n, e := der.All(b); e != api.OK || n != len(b) || len(l) != 2 || !bytes.Equal(l[1].Content, filled(300)) {
 		t.Errorf("a long one: %d elements, %d, error %d", len(l), n, e)
 	}
@@ -319,13 +308,13 @@ func TestAllFaults(t *testing.T) {
 			continue // no byte is no element, not a wrong one
 		}
 		for _, ahead := range []string{"", "05 00", "04 02 1f 1f 30 01 1f"} {
-			b := raw(t, ahead+f.b)
-			if l, n, e := der.All(b); e != f.want || n != len(raw(t, ahead)) || l != nil {
+			b := probe.Raw(ahead + f.b)
+			if l, n, e := der.All(b); e != f.want || n != len(probe.Raw(ahead)) || l != nil {
 				t.Errorf("All(%s | %s): %v, %d, error %d; want error %d", ahead, f.b, l, n, e, f.want)
 			}
 		}
 	}
-	if l, n, e := der.All(raw(t, "05 00 1f 05 00 04 80")); e != api.ErrTag || n != 2 || l != nil {
+	if l, n, e := der.All(probe.Raw("05 00 1f 05 00 04 80")); e != api.ErrTag || n != 2 || l != nil {
 		t.Errorf("two wrong: %v, %d, error %d", l, n, e)
 	}
 }

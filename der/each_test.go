@@ -7,6 +7,7 @@ import (
 
 	"chancery/api"
 	"chancery/der"
+	"chancery/probe"
 )
 
 // told is what Each tells: places and elements.
@@ -41,7 +42,7 @@ func TestEach(t *testing.T) {
 		{"04 00 05 01 09 1f 05 00", two}, // what stands behind the first that is wrong is not told
 		{"30 02 05 00", []told{{0, api.Element{Tag: 0x30, Content: []byte{5, 0}}}}},
 	} {
-		if l := gather(raw(t, c.b)); !sameTold(l, c.want) {
+		if l := gather(probe.Raw(c.b)); !sameTold(l, c.want) {
 			t.Errorf("Each(%s): %v", c.b, l)
 		}
 	}
@@ -49,7 +50,7 @@ func TestEach(t *testing.T) {
 		t.Errorf("Each(nil): %v", l)
 	}
 	for _, f := range faults {
-		if l := gather(raw(t, "04 00 05 01 09"+f.b)); !sameTold(l, two) {
+		if l := gather(probe.Raw("04 00 05 01 09" + f.b)); !sameTold(l, two) {
 			t.Errorf("Each(two | %s): %v", f.b, l)
 		}
 	}
@@ -62,7 +63,7 @@ func TestEach(t *testing.T) {
 
 // P1.5, P2: it may be left, and gone over again, also while it is gone over.
 func TestEachAgain(t *testing.T) {
-	b := raw(t, "04 01 01 05 01 02 04 01 03")
+	b := probe.Raw("04 01 01 05 01 02 04 01 03")
 	each := der.Each(b)
 	places := 0
 	for at := range each {
@@ -93,7 +94,7 @@ func TestEachAgain(t *testing.T) {
 
 // P1.5: it tells of b as it was at the call, not as it is when it is gone over.
 func TestEachAtTheCall(t *testing.T) {
-	b := raw(t, "04 01 01 05 01 02")
+	b := probe.Raw("04 01 01 05 01 02")
 	want := gather(b)
 	each := der.Each(b)
 	clear(b)
@@ -109,7 +110,7 @@ func TestEachAtTheCall(t *testing.T) {
 
 // P2: what a range tells is new memory each time.
 func TestEachNewMemory(t *testing.T) {
-	b := raw(t, "04 02 01 02 04 02 03 04")
+	b := probe.Raw("04 02 01 02 04 02 03 04")
 	was := bytes.Clone(b)
 	each := der.Each(b)
 	var contents [][]byte
@@ -119,7 +120,7 @@ func TestEachNewMemory(t *testing.T) {
 		}
 	}
 	for i, c := range contents {
-		scribble(c, byte(0xa0+i))
+		probe.Scribble(c, byte(0xa0+i))
 	}
 	for i, c := range contents {
 		if c[0] != byte(0xa0+i) || c[1] != byte(0xa0+i) {

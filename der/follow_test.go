@@ -6,6 +6,7 @@ import (
 
 	"chancery/api"
 	"chancery/der"
+	"chancery/probe"
 )
 
 var someTags = []int{0, 1, 4, 30, 32, 0x30, 62, 128, 0xa0, 254}
@@ -56,31 +57,16 @@ func TestAllOfPut(t *testing.T) {
 	}
 }
 
-// short goes over all strings of at most n bytes out of an alphabet.
-func short(alphabet []byte, n int, tell func(b []byte)) {
-	var down func(b []byte)
-	down = func(b []byte) {
-		tell(b)
-		if len(b) == n {
-			return
-		}
-		for _, x := range alphabet {
-			down(append(bytes.Clone(b), x))
-		}
-	}
-	down(nil)
-}
-
 // P1.9: what All takes, put one behind the other, is the bytes again.
 func TestPutOfAll(t *testing.T) {
 	taken := 0
-	short([]byte{0, 1, 2, 3, 4, 0x1f, 0x30, 0x81, 0xff}, 6, func(b []byte) {
+	for b := range probe.Short([]byte{0, 1, 2, 3, 4, 0x1f, 0x30, 0x81, 0xff}, 6) {
 		l, end, e := der.All(b)
 		if e != api.OK {
 			if l != nil || end >= len(b) {
 				t.Errorf("All(%x): %v, %d, error %d", b, l, end, e)
 			}
-			return
+			continue
 		}
 		taken++
 		var again []byte
@@ -92,7 +78,7 @@ func TestPutOfAll(t *testing.T) {
 		if end != len(b) || !bytes.Equal(again, b) {
 			t.Errorf("All(%x), put again: %x", b, again)
 		}
-	})
+	}
 	if taken < 1000 {
 		t.Errorf("only %d strings are elements", taken)
 	}
@@ -101,7 +87,7 @@ func TestPutOfAll(t *testing.T) {
 // P1.9, P1.10: of any bytes, a beginning is an element just if Put can lay it, and at most one beginning is.
 func TestOneForm(t *testing.T) {
 	alphabet := []byte{0, 1, 2, 4, 0x1e, 0x1f, 0x30, 0x7f, 0x80, 0x81, 0x82, 0xff}
-	short(alphabet, 5, func(b []byte) {
+	for b := range probe.Short(alphabet, 5) {
 		ends := []int{}
 		for end := 2; end <= len(b); end++ {
 			tag, content := int(b[0]), b[2:end] // so short a content has a length of one byte
@@ -113,7 +99,7 @@ func TestOneForm(t *testing.T) {
 		if len(ends) > 1 || (e == api.OK) != (len(ends) == 1) || e == api.OK && n != ends[0] {
 			t.Errorf("Take(%x): %d, error %d; Put can lay up to %v", b, n, e, ends)
 		}
-	})
+	}
 }
 
 // P1.10: an element's bytes have no beginning that is one, and none is longer than itself.

@@ -6,26 +6,13 @@ import (
 
 	"chancery/api"
 	"chancery/der"
+	"chancery/probe"
 )
-
-// scribble writes over a list, and over all the spare room behind it.
-func scribble(b []byte, with byte) {
-	b = b[:cap(b)]
-	for i := range b {
-		b[i] = with
-	}
-}
-
-// roomy is b with spare room behind it that must not be touched; whole is both.
-func roomy(b []byte) (part, whole []byte) {
-	whole = append(bytes.Clone(b), bytes.Repeat([]byte{0xee}, 40)...)
-	return whole[:len(b):len(whole)], whole
-}
 
 // P2: Put neither changes nor shares what it is handed, spare room too.
 func TestPutMemory(t *testing.T) {
-	b, wholeB := roomy([]byte{5, 0})
-	c, wholeC := roomy([]byte{1, 2, 3})
+	b, wholeB := probe.Roomy([]byte{5, 0})
+	c, wholeC := probe.Roomy([]byte{1, 2, 3})
 	wasB, wasC := bytes.Clone(wholeB), bytes.Clone(wholeC)
 	one, e1 := der.Put(b, 4, c, c)
 	two, e2 := der.Put(b, 4, c, c)
@@ -34,13 +21,13 @@ func TestPutMemory(t *testing.T) {
 	if e1 != api.OK || e2 != api.OK || e3 != api.OK || !bytes.Equal(one, want) {
 		t.Fatalf("%x, errors %d %d %d", one, e1, e2, e3)
 	}
-	scribble(one, 0x77)
-	scribble(none, 0x78)
+	probe.Scribble(one, 0x77)
+	probe.Scribble(none, 0x78)
 	if !bytes.Equal(wholeB, wasB) || !bytes.Equal(wholeC, wasC) {
 		t.Error("an argument is changed")
 	}
-	scribble(wholeB, 0x55)
-	scribble(wholeC, 0x55)
+	probe.Scribble(wholeB, 0x55)
+	probe.Scribble(wholeC, 0x55)
 	if !bytes.Equal(two, want) {
 		t.Errorf("an answer shares memory: %x", two)
 	}
@@ -48,7 +35,7 @@ func TestPutMemory(t *testing.T) {
 
 // P2: a content may be a piece of the bytes ahead of it.
 func TestPutOfItself(t *testing.T) {
-	b, _ := roomy([]byte{5, 0})
+	b, _ := probe.Roomy([]byte{5, 0})
 	if out, e := der.Put(b, 4, b, b[:1:1], b[1:]); e != api.OK || !bytes.Equal(out, []byte{5, 0, 4, 4, 5, 0, 5, 0}) {
 		t.Errorf("%x, error %d", out, e)
 	}
@@ -56,7 +43,7 @@ func TestPutOfItself(t *testing.T) {
 
 // P2: elements share no memory with the bytes out of which they are taken, nor with each other.
 func TestTakenMemory(t *testing.T) {
-	b, whole := roomy(raw(t, "04 02 01 02 04 02 01 02"))
+	b, whole := probe.Roomy(probe.Raw("04 02 01 02 04 02 01 02"))
 	was := bytes.Clone(whole)
 	x, _, _ := der.Take(b)
 	y, _ := der.One(b[:4])
@@ -65,12 +52,12 @@ func TestTakenMemory(t *testing.T) {
 		t.Fatalf("%v, error %d", l, e)
 	}
 	contents := [][]byte{x.Content, y.Content, l[0].Content, l[1].Content}
-	scribble(contents[0], 0xa0)
+	probe.Scribble(contents[0], 0xa0)
 	for i, c := range contents[1:] {
 		if !bytes.Equal(c, []byte{1, 2}) {
 			t.Errorf("content %d: %x", i+1, c)
 		}
-		scribble(c, byte(0xa1+i))
+		probe.Scribble(c, byte(0xa1+i))
 	}
 	for i, c := range contents {
 		if c[0] != byte(0xa0+i) {
@@ -84,7 +71,7 @@ func TestTakenMemory(t *testing.T) {
 
 // P2: what All has answered stays as it is when the bytes change.
 func TestAllStays(t *testing.T) {
-	b := raw(t, "04 02 01 02 04 02 03 04")
+	b := probe.Raw("04 02 01 02 04 02 03 04")
 	l, _, _ := der.All(b)
 	x, _, _ := der.Take(b)
 	y, _ := der.One(b[:4])
@@ -96,13 +83,13 @@ func TestAllStays(t *testing.T) {
 
 // P2: so with Check and Set.
 func TestSetMemory(t *testing.T) {
-	b, whole := roomy([]byte{3, 1})
+	b, whole := probe.Roomy([]byte{3, 1})
 	was := bytes.Clone(whole)
 	l := [][]byte{b, b, {2}}
 	one := der.Set(l...)
 	two := der.Set(l...)
 	for i, x := range one {
-		scribble(x, byte(0xa0+i))
+		probe.Scribble(x, byte(0xa0+i))
 	}
 	for i, x := range one {
 		if x[0] != byte(0xa0+i) {
@@ -113,11 +100,11 @@ func TestSetMemory(t *testing.T) {
 	if !bytes.Equal(whole, was) || len(l) != 3 || &l[0][0] != &b[0] || l[2][0] != 2 {
 		t.Error("an argument is changed")
 	}
-	scribble(whole, 0x55)
+	probe.Scribble(whole, 0x55)
 	if !sameList(two, [][]byte{{2}, {3, 1}, {3, 1}}) {
 		t.Errorf("an answer shares memory: %x", two)
 	}
-	c, wholeC := roomy(raw(t, "30 03 02 01 05"))
+	c, wholeC := probe.Roomy(probe.Raw("30 03 02 01 05"))
 	wasC := bytes.Clone(wholeC)
 	if n, at, e := der.Check(c, 1); n != 2 || at != 0 || e != api.OK || !bytes.Equal(wholeC, wasC) {
 		t.Errorf("Check: %d, %d, error %d, or its argument is changed", n, at, e)
@@ -126,7 +113,7 @@ func TestSetMemory(t *testing.T) {
 
 // P1, P2: spare room is no part of the bytes: what ends too soon ends there.
 func TestSpareRoomIsNotRead(t *testing.T) {
-	whole := raw(t, "30 03 02 01 05")
+	whole := probe.Raw("30 03 02 01 05")
 	for end := range whole {
 		b := whole[:end]
 		if _, _, e := der.Take(b); e != api.ErrShort {

@@ -6,13 +6,14 @@ import (
 	"testing"
 
 	"chancery/der"
+	"chancery/probe"
 )
 
 func list(t *testing.T, digits ...string) [][]byte {
 	t.Helper()
 	var l [][]byte
 	for _, s := range digits {
-		l = append(l, raw(t, s))
+		l = append(l, probe.Raw(s))
 	}
 	return l
 }
