@@ -2,7 +2,7 @@
 package probe
 
 import (
-	"bytes"
+	"slices"
 	"strconv"
 	"strings"
 )
@@ -24,33 +24,36 @@ func Raw(digits string) []byte {
 	return b
 }
 
-// Roomy is b with spare room behind it that must not be touched; whole is both.
-func Roomy(b []byte) (part, whole []byte) {
-	whole = append(bytes.Clone(b), bytes.Repeat([]byte{0xee}, 40)...)
-	return whole[:len(b):len(whole)], whole
+// unit is what the lists are made of that layers take: bytes, or limbs.
+type unit interface{ byte | uint64 }
+
+// Roomy is l with spare room behind it that must not be touched; whole is both.
+func Roomy[T unit](l []T) (part, whole []T) {
+	whole = append(slices.Clone(l), slices.Repeat([]T{0xee}, 40)...)
+	return whole[:len(l):len(whole)], whole
 }
 
 // Scribble writes over a list, and over all the spare room behind it.
-func Scribble(b []byte, with byte) {
-	b = b[:cap(b)]
-	for i := range b {
-		b[i] = with
+func Scribble[T unit](l []T, with T) {
+	l = l[:cap(l)]
+	for i := range l {
+		l[i] = with
 	}
 }
 
-// Short goes over all strings of at most n bytes out of an alphabet. Each is memory of its own.
-func Short(alphabet []byte, n int) func(yield func([]byte) bool) {
-	return func(yield func([]byte) bool) {
-		var down func(b []byte) bool
-		down = func(b []byte) bool {
-			if !yield(bytes.Clone(b)) {
+// Short goes over all rows of at most n units out of an alphabet. Each is memory of its own.
+func Short[T unit](alphabet []T, n int) func(yield func([]T) bool) {
+	return func(yield func([]T) bool) {
+		var down func(l []T) bool
+		down = func(l []T) bool {
+			if !yield(slices.Clone(l)) {
 				return false
 			}
-			if len(b) == n {
+			if len(l) == n {
 				return true
 			}
 			for _, x := range alphabet {
-				if !down(append(bytes.Clone(b), x)) {
+				if !down(append(slices.Clone(l), x)) {
 					return false
 				}
 			}

@@ -2,6 +2,7 @@ package probe_test
 
 import (
 	"bytes"
+	"slices"
 	"testing"
 
 	"chancery/probe"
@@ -36,6 +37,25 @@ func TestRoomyAndScribble(t *testing.T) {
 	probe.Scribble(part, 7)
 	if b[0] != 1 || !bytes.Equal(whole, bytes.Repeat([]byte{7}, len(whole))) {
 		t.Errorf("%v, %v", b, whole)
+	}
+}
+
+func TestLimbs(t *testing.T) {
+	a := []uint64{1, 1 << 63}
+	part, whole := probe.Roomy(a)
+	if !slices.Equal(part, a) || len(whole) <= len(a) || cap(part) != len(whole) {
+		t.Errorf("%v of %d, room for %d", part, len(whole), cap(part))
+	}
+	probe.Scribble(part, 1<<40)
+	if a[1] != 1<<63 || !slices.Equal(whole, slices.Repeat([]uint64{1 << 40}, len(whole))) {
+		t.Errorf("%v, %v", a, whole)
+	}
+	var l [][]uint64
+	for row := range probe.Short(a, 2) {
+		l = append(l, row)
+	}
+	if len(l) != 7 || len(l[0]) != 0 || !slices.Equal(l[5], []uint64{1 << 63, 1}) {
+		t.Errorf("%v", l)
 	}
 }
 
