@@ -6,6 +6,7 @@ import (
 
 	"chancery/api"
 	"chancery/nat"
+	"chancery/probe"
 )
 
 // P6.3
@@ -39,10 +40,10 @@ func TestBits(t *testing.T) {
 
 // P6.3: of any limbs, also more than MaxLimbs, each bit by the library.
 func TestBit(t *testing.T) {
-	var d draws
+	var d probe.Draws
 	rows := append(append(longs(), zeros()...), api.Nat{1}, api.Nat{0, 1}, api.Nat{1 << 63}, api.Nat{0, 1 << 63}, api.Nat{most, 0, 1})
 	for _, n := range []int{1, 2, 3, 63, 64, 65, 66, 200} {
-		rows = append(rows, row(most, n), d.number(n))
+		rows = append(rows, row(most, n), d.Number(n))
 	}
 	for _, a := range rows {
 		x := value(a)
@@ -78,9 +79,9 @@ func TestBitOutside(t *testing.T) {
 
 // P6.3: the bits, weighed, are the number, and the highest of them is the last that Bits counts.
 func TestBitsAreTheNumber(t *testing.T) {
-	var d draws
+	var d probe.Draws
 	for n := range api.MaxLimbs + 1 {
-		a := d.number(n)
+		a := d.Number(n)
 		count, _ := nat.Bits(a)
 		back := make(api.Nat, n)
 		for i := range count {

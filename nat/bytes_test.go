@@ -61,12 +61,12 @@ func TestFromAndBytes(t *testing.T) {
 
 // P6.1: of each length up to the limit, with bytes 0 ahead or not, by the library.
 func TestFromEachLength(t *testing.T) {
-	var d draws
+	var d probe.Draws
 	for n := 1; n <= 512; n++ {
 		for _, first := range []byte{1, 0x7f, 0x80, 0xff} {
 			b := make([]byte, n)
 			for i := range b {
-				b[i] = byte(d.next())
+				b[i] = byte(d.Next())
 			}
 			b[0] = first
 			want := limbs(new(big.Int).SetBytes(b))

@@ -42,9 +42,9 @@ func TestDiv(t *testing.T) {
 
 // P6.2: by 1, by itself, by one that is greater by 1 or less by 1, and by 2; of each length.
 func TestDivNextTo(t *testing.T) {
-	var d draws
+	var d probe.Draws
 	for n := 1; n <= api.MaxLimbs; n++ {
-		for _, a := range []api.Nat{power(64*n - 1), power(64*n - 64), append(d.number(n-1), 1<<63-1), append(d.number(n-1), d.next()/2+2)} {
+		for _, a := range []api.Nat{power(64*n - 1), power(64*n - 64), append(d.Number(n-1), 1<<63-1), append(d.Number(n-1), d.Next()/2+2)} {
 			divides(t, a, api.Nat{1}, a, nil)
 			divides(t, a, a, api.Nat{1}, nil)
 			divides(t, a, padded(a, 4), api.Nat{1}, nil)
@@ -63,11 +63,11 @@ func TestDivNextTo(t *testing.T) {
 
 // P6.2: by one limb, whose highest bit is set or not, numbers of each length.
 func TestDivByOneLimb(t *testing.T) {
-	var d draws
+	var d probe.Draws
 	for n := range api.MaxLimbs + 1 {
-		for _, x := range append(edges, 2, 3, 10, 1<<32-1, 1<<32, 1<<62, most-1, d.next(), d.next()>>1|1) {
+		for _, x := range append(edges, 2, 3, 10, 1<<32-1, 1<<32, 1<<62, most-1, d.Next(), d.Next()>>1|1) {
 			for range 10 {
-				holdDiv(t, d.number(n), api.Nat{x})
+				holdDiv(t, d.Number(n), api.Nat{x})
 			}
 		}
 	}
@@ -100,11 +100,11 @@ func TestDivShortRows(t *testing.T) {
 
 // P6.2: long rows of edges, the divisor's highest limb being each of them.
 func TestDivLongRows(t *testing.T) {
-	var d draws
+	var d probe.Draws
 	for n := 2; n <= api.MaxLimbs; n++ {
 		for k := 1; k <= n; k++ {
 			for _, top := range edges[1:] {
-				a, b := d.number(n), append(d.number(k-1), top)
+				a, b := d.Number(n), append(d.Number(k-1), top)
 				holdDiv(t, a, b)
 				a[n-1] = top // alike at the top, so that the first guess is the greatest limb, or 1
 				holdDiv(t, a, b)
@@ -118,13 +118,13 @@ func TestDivLongRows(t *testing.T) {
 
 // P6.2: what is made of a quotient and a rest that are known.
 func TestDivMade(t *testing.T) {
-	var d draws
+	var d probe.Draws
 	for k := 1; k < api.MaxLimbs; k++ {
 		for _, top := range []uint64{1, 2, 1<<63 - 1, 1 << 63, 1<<63 + 1, most} {
-			b := append(d.number(k-1), top)
+			b := append(d.Number(k-1), top)
 			most1, _ := nat.Sub(b, api.Nat{1}) // the greatest rest
 			for m := 1; m <= api.MaxLimbs-k; m += 1 + m/4 {
-				for _, q := range []api.Nat{append(d.number(m-1), 1), append(d.number(m-1), most), row(most, m), append(row(0, m-1), 1)} {
+				for _, q := range []api.Nat{append(d.Number(m-1), 1), append(d.Number(m-1), most), row(most, m), append(row(0, m-1), 1)} {
 					for _, r := range []api.Nat{nil, most1} {
 						product, _ := nat.Mul(q, b)
 						a, _ := nat.Add(product, r)

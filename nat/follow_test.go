@@ -87,11 +87,11 @@ func TestFollowsShort(t *testing.T) {
 
 // P6.4: longer numbers, while what comes may be.
 func TestFollowsLong(t *testing.T) {
-	var d draws
+	var d probe.Draws
 	for n := range 22 {
 		for k := range 21 {
 			for range 5 {
-				follows(t, d.number(n), d.number(k), d.number(62-n-k))
+				follows(t, d.Number(n), d.Number(k), d.Number(62-n-k))
 			}
 		}
 	}
@@ -100,10 +100,10 @@ func TestFollowsLong(t *testing.T) {
 
 // P6.4: of any limbs, the greatest numbers among them.
 func TestDivUndone(t *testing.T) {
-	var d draws
+	var d probe.Draws
 	for n := range api.MaxLimbs + 1 {
 		for k := 1; k <= api.MaxLimbs; k++ {
-			a, b := d.number(n), append(d.number(k-1), d.next()>>(d.next()%64)|1)
+			a, b := d.Number(n), append(d.Number(k-1), d.Next()>>(d.Next()%64)|1)
 			undoes(t, a, b)
 			undoes(t, padded(a, 1), padded(b, 2))
 			undoes(t, row(most, n), b)
@@ -127,13 +127,13 @@ func TestFromOfBytes(t *testing.T) {
 	for a := range probe.Short(edges, 4) {
 		back(a)
 	}
-	var d draws
+	var d probe.Draws
 	for n := range api.MaxLimbs + 1 {
 		for range 20 {
-			back(d.number(n))
+			back(d.Number(n))
 		}
 		back(row(most, n))
-		back(padded(d.number(n), 70))
+		back(padded(d.Number(n), 70))
 	}
 	for i := range 64 * api.MaxLimbs {
 		back(power(i))

@@ -9,12 +9,17 @@ import (
 
 	"chancery/api"
 	"chancery/nat"
+	"chancery/probe"
 )
 
 const most = math.MaxUint64
 
-// edges are limbs at which something changes.
-var edges = []uint64{0, 1, 1<<63 - 1, 1 << 63, 1<<63 + 1, most}
+// What package probe has, by short names.
+var (
+	edges              = probe.Edges()
+	row, power, padded = probe.Row, probe.Power, probe.Padded
+	zeros, longs       = probe.Zeros, probe.Longs
+)
 
 // value is a number as the library has it.
 func value(a api.Nat) *big.Int {
@@ -32,54 +37,6 @@ func limbs(x *big.Int) api.Nat {
 	var a api.Nat
 	for i := range n {
 		a = append(a, binary.BigEndian.Uint64(b[8*(n-1-i):]))
-	}
-	return a
-}
-
-// row is n limbs x.
-func row(x uint64, n int) api.Nat { return slices.Repeat(api.Nat{x}, n) }
-
-// power is the number that has a 1 at i, and else nothing.
-func power(i int) api.Nat {
-	a := make(api.Nat, i/64+1)
-	a[i/64] = 1 << (i % 64)
-	return a
-}
-
-// padded is a number with n limbs 0 behind it.
-func padded(a api.Nat, n int) api.Nat { return append(slices.Clone(a), make(api.Nat, n)...) }
-
-// zeros are the ways in which 0 may be written.
-func zeros() []api.Nat {
-	return []api.Nat{nil, {}, {0}, {0, 0}, row(0, 64), row(0, 65), row(0, 1000)}
-}
-
-// longs are numbers that may not be.
-func longs() []api.Nat {
-	one := append(row(0, 64), 1)
-	return []api.Nat{one, row(most, 65), append(row(most, 64), 1<<63), append(row(0, 65), 1), append(row(0, 999), 1), padded(one, 1), padded(one, 100), row(1, 128)}
-}
-
-// draws are numbers that look like chance, and are the same each time.
-type draws uint64
-
-func (d *draws) next() uint64 {
-	*d += 0x9e3779b97f4a7c15
-	x := uint64(*d)
-	x = (x ^ x>>30) * 0xbf58476d1ce4e5b9
-	x = (x ^ x>>27) * 0x94d049bb133111eb
-	return x ^ x>>31
-}
-
-// number has n limbs: most of them edges.
-func (d *draws) number(n int) api.Nat {
-	a := make(api.Nat, n)
-	for i := range a {
-		if k := d.next() % 8; k < uint64(len(edges)) {
-			a[i] = edges[k]
-		} else {
-			a[i] = d.next()
-		}
 	}
 	return a
 }

@@ -30,11 +30,11 @@ var reckonings = []struct {
 
 // pairs are arguments, with ones among them of which an answer is the other one, or which are wrong.
 func pairs() [][2]api.Nat {
-	var d draws
+	var d probe.Draws
 	long := append(row(0, 64), 1)
 	return [][2]api.Nat{
 		{nil, nil}, {{5}, nil}, {nil, {5}}, {{5, 6}, {1}}, {{5, 6}, {0, 0}}, {{5, 6, 0}, {0}}, {{5, 6}, {0, 7}}, {{5, 6}, {5, 6}},
-		{{5, 6, 7}, {0, 1}}, {{most, most}, {most}}, {{1, 0, 0, 0}, {2, 0, 0}}, {{0, 0, 1}, {1 << 63}}, {d.number(64), d.number(30)}, {d.number(30), row(most, 64)},
+		{{5, 6, 7}, {0, 1}}, {{most, most}, {most}}, {{1, 0, 0, 0}, {2, 0, 0}}, {{0, 0, 1}, {1 << 63}}, {d.Number(64), d.Number(30)}, {d.Number(30), row(most, 64)},
 		{long, {1}}, {{1}, long}, {long, nil}, {padded(row(1, 64), 3), {3, 0}},
 	}
 }

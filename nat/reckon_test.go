@@ -61,9 +61,9 @@ func TestSub(t *testing.T) {
 
 // P6.2: a number taken from itself, from one that is less by 1, and from one that is more by 1; and how these compare.
 func TestNextTo(t *testing.T) {
-	var d draws
+	var d probe.Draws
 	for n := 1; n <= api.MaxLimbs; n++ {
-		for _, a := range []api.Nat{row(most, n), append(row(most, n-1), 1<<63), power(64*n - 1), power(64*n - 64), append(d.number(n-1), d.next()|1)} {
+		for _, a := range []api.Nat{row(most, n), append(row(most, n-1), 1<<63), power(64*n - 1), power(64*n - 64), append(d.Number(n-1), d.Next()|1)} {
 			less, e := nat.Sub(a, api.Nat{1})
 			if e != api.OK {
 				t.Fatalf("Sub(%x, 1): error %d", a, e)
@@ -178,10 +178,10 @@ func TestAboveTheLimit(t *testing.T) {
 
 // P6.2: limbs 0 at the end, in each argument, as many as there may be.
 func TestPadded(t *testing.T) {
-	var d draws
+	var d probe.Draws
 	for _, n := range []int{0, 1, 2, 3, 8, 63, 64} {
 		for _, k := range []int{0, 1, 2, 3, 8, 63, 64} {
-			a, b := d.number(n), d.number(k)
+			a, b := d.Number(n), d.Number(k)
 			for _, pad := range [][2]int{{0, 0}, {1, 0}, {0, 1}, {1, 1}, {2, 70}, {70, 2}, {64 - n, 64 - k}, {65 - n, 65 - k}, {1000, 1000}} {
 				hold(t, padded(a, pad[0]), padded(b, pad[1]))
 			}
@@ -214,11 +214,11 @@ func TestShortRows(t *testing.T) {
 
 // P6.2: numbers of all pairs of lengths, by the library.
 func TestEachLength(t *testing.T) {
-	var d draws
+	var d probe.Draws
 	for n := range api.MaxLimbs + 1 {
 		for k := range api.MaxLimbs + 1 {
 			for range 3 {
-				hold(t, d.number(n), d.number(k))
+				hold(t, d.Number(n), d.Number(k))
 			}
 		}
 	}
