@@ -64,3 +64,12 @@ func (d *Draws) Number(n int) api.Nat {
 	}
 	return a
 }
+
+// Bytes are n bytes.
+func (d *Draws) Bytes(n int) []byte {
+	b := make([]byte, n)
+	for i := range b {
+		b[i] = byte(d.Next())
+	}
+	return b
+}

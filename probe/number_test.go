@@ -53,6 +53,9 @@ func TestDraws(t *testing.T) {
 		if len(a) != n || !slices.Equal(a, b) {
 			t.Errorf("%d limbs: %x and %x", n, a, b)
 		}
+		if a, b := one.Bytes(n), other.Bytes(n); len(a) != n || !slices.Equal(a, b) {
+			t.Errorf("%d bytes: %x and %x", n, a, b)
+		}
 	}
 	if one.Next() == one.Next() {
 		t.Error("the same again")
