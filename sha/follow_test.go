@@ -9,17 +9,6 @@ import (
 	"chancery/sha"
 )
 
-// cut is a text in pieces, cut at these places.
-func cut(b []byte, at ...int) [][]byte {
-	var l [][]byte
-	from := 0
-	for _, i := range at {
-		l = append(l, b[from:i])
-		from = i
-	}
-	return append(l, b[from:])
-}
-
 // same fails unless pieces have the digest of the text, by Sum, in one Write and in many.
 func same(t *testing.T, pieces [][]byte, want api.Digest) {
 	t.Helper()
@@ -55,9 +44,9 @@ func TestCut(t *testing.T) {
 		b := text(n)
 		want := libSum(b)
 		for i := range n + 1 {
-			same(t, cut(b, i), want)
+			same(t, probe.Cut(b, i), want)
 			for j := i; j <= n; j++ {
-				same(t, cut(b, i, j), want)
+				same(t, probe.Cut(b, i, j), want)
 			}
 		}
 	}
@@ -71,9 +60,9 @@ func TestCutKeyed(t *testing.T) {
 			b := text(n)
 			want := libMac(key, b)
 			for i := range n + 1 {
-				sameKeyed(t, key, cut(b, i), want)
+				sameKeyed(t, key, probe.Cut(b, i), want)
 				for j := i; j <= n; j += 3 {
-					sameKeyed(t, key, cut(b, i, j), want)
+					sameKeyed(t, key, probe.Cut(b, i, j), want)
 				}
 			}
 		}
@@ -90,11 +79,11 @@ func TestCutIntoMany(t *testing.T) {
 			at = append(at, int(d.Next()%uint64(len(b)+1)))
 		}
 		slices.Sort(at)
-		same(t, cut(b, at...), libSum(b))
+		same(t, probe.Cut(b, at...), libSum(b))
 		key := d.Bytes(int(d.Next() % 130))
-		sameKeyed(t, key, cut(b, at...), libMac(key, b))
+		sameKeyed(t, key, probe.Cut(b, at...), libMac(key, b))
 		h := sha.New()
-		for _, piece := range cut(b, at...) {
+		for _, piece := range probe.Cut(b, at...) {
 			write(t, h, piece)
 			h.Sum()
 			h = h.Copy()

@@ -3,7 +3,6 @@ package sha_test
 import (
 	"bytes"
 	"runtime"
-	"slices"
 	"testing"
 
 	"chancery/api"
@@ -11,47 +10,11 @@ import (
 	"chancery/sha"
 )
 
-// roomy is pieces with spare room behind each, and behind the list of them; check fails if any of it is changed.
-func roomy(t *testing.T, pieces ...[]byte) (given [][]byte, check func()) {
-	t.Helper()
-	var wholes, were [][]byte
-	list := make([][]byte, 0, len(pieces)+3)
-	for _, b := range pieces {
-		part, whole := probe.Roomy(b)
-		list, wholes, were = append(list, part), append(wholes, whole), append(were, slices.Clone(whole))
-	}
-	spare := list[len(list):cap(list)]
-	for i := range spare {
-		spare[i] = []byte("spare")
-	}
-	return list, func() {
-		t.Helper()
-		for i, b := range pieces {
-			if !bytes.Equal(wholes[i], were[i]) || !bytes.Equal(list[i], b) || len(list[i]) != len(b) {
-				t.Errorf("a piece of %d bytes is changed", len(b))
-			}
-		}
-		for _, b := range spare {
-			if string(b) != "spare" {
-				t.Error("the list's spare room is changed")
-			}
-		}
-	}
-}
-
-// scribble writes over pieces, the spare room behind them and the list.
-func scribble(pieces [][]byte) {
-	for i, b := range pieces {
-		probe.Scribble(b, 0x55)
-		pieces[i] = nil
-	}
-}
-
 // P2: neither pieces nor keys are changed, spare room too.
 func TestArgumentsAreLeft(t *testing.T) {
 	for _, n := range lengths {
 		for _, k := range keyLengths {
-			given, check := roomy(t, text(k), text(n), nil, text(n), text(3))
+			given, left := probe.RoomyPieces(text(k), text(n), nil, text(n), text(3))
 			key, pieces := given[0], given[1:]
 			sha.Sum(pieces...)
 			sha.Mac(key, pieces...)
@@ -65,7 +28,9 @@ func TestArgumentsAreLeft(t *testing.T) {
 			}
 			(*sha.Hash)(nil).Write(pieces...)
 			new(sha.Keyed).Write(pieces...)
-			check()
+			if !left() {
+				t.Errorf("a key of %d bytes or a piece of %d is changed", k, n)
+			}
 		}
 	}
 }
@@ -77,10 +42,10 @@ func TestPiecesAreNotKept(t *testing.T) {
 			h := m.make()
 			var b []byte
 			for range 3 {
-				given, _ := roomy(t, text(n), text(5))
+				given, _ := probe.RoomyPieces(text(n), text(5))
 				b = append(b, bytes.Join(given, nil)...)
 				write(t, h, given...)
-				scribble(given)
+				probe.ScribblePieces(given, 0x55)
 				m.tells(t, h, b)
 			}
 		}
