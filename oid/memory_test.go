@@ -96,7 +96,7 @@ func TestNothingIsKept(t *testing.T) {
 			}
 		}
 	}
-	if after := runtime.NumGoroutine(); after != before {
-		t.Errorf("%d goroutines, ahead %d", after, before)
+	if after := runtime.NumGoroutine(); after > before {
+		t.Errorf("%d goroutines, ahead of it %d", after, before)
 	}
 }
