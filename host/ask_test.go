@@ -122,7 +122,7 @@ func TestLabelLengths(t *testing.T) {
 // P13.1: hosts' names, wild names and local parts of each length.
 func TestLengths(t *testing.T) {
 	for n := 1; n < 600; n++ {
-		s := longHost(n)
+		s := probe.LongHost(n)
 		if len(s) != n || host.DNS(s) != (n <= 253) || host.Email("a@"+s) != (n <= 253) {
 			t.Errorf("a host's name of %d bytes: DNS %t, Email %t", n, host.DNS(s), host.Email("a@"+s))
 		}
@@ -137,7 +137,7 @@ func TestLengths(t *testing.T) {
 			t.Errorf("%d bytes in short labels: DNS %t, Wild %t", n, host.DNS(short), host.Wild("*."+short))
 		}
 		for _, local := range []string{strings.Repeat("a", n), strings.Repeat("_", n)} {
-			if want := n <= 64; host.Email(local+"@c") != want || host.Email(local+"@"+longHost(253)) != want {
+			if want := n <= 64; host.Email(local+"@c") != want || host.Email(local+"@"+probe.LongHost(253)) != want {
 				t.Errorf("a local part of %d bytes: not %t", n, want)
 			}
 		}
@@ -257,8 +257,8 @@ func TestAnyTexts(t *testing.T) {
 	all := slices.Concat(hosts(), wilds(), emails())
 	for i := range 20000 {
 		asWords(t, string(draws.Bytes(i%300)))
-		asWords(t, changed(&draws, all[i%len(all)], alphabet))
-		asWords(t, changed(&draws, changed(&draws, all[i%len(all)], alphabet), alphabet))
+		asWords(t, draws.Changed(all[i%len(all)], alphabet))
+		asWords(t, draws.Changed(draws.Changed(all[i%len(all)], alphabet), alphabet))
 	}
 	for _, one := range []string{"a", ".", "-", "1", "@", "*", "*.", "a.", "a@", ".@", "\xff", "a-", "_"} {
 		s := strings.Repeat(one, 1<<21)

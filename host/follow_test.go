@@ -59,7 +59,7 @@ func TestBackAndThere(t *testing.T) {
 	for range 5000 {
 		s := textOf(t, drawn(t, &draws))
 		for range 10 {
-			s := changed(&draws, s, `aA0f.-@*_:,=\ `)
+			s := draws.Changed(s, `aA0f.-@*_:,=\ `)
 			g, e := host.Parse(s)
 			if e != api.OK {
 				continue

@@ -3,7 +3,6 @@ package host_test
 import (
 	"encoding/hex"
 	"fmt"
-	"math"
 	"regexp"
 	"slices"
 	"strings"
@@ -128,15 +127,15 @@ var known = []struct {
 	{api.General{Kind: 1, Text: "a.b@c"}, "email:a.b@c"},
 	{api.General{Kind: 1, Text: "A_b+1.-@C.d-e"}, "email:A_b+1.-@C.d-e"},
 	{api.General{Kind: 1, Text: "-@x"}, "email:-@x"},
-	{api.General{Kind: 1, Text: strings.Repeat("z", 64) + "@" + longHost(253)}, "email:" + strings.Repeat("z", 64) + "@" + longHost(253)},
+	{api.General{Kind: 1, Text: strings.Repeat("z", 64) + "@" + probe.LongHost(253)}, "email:" + strings.Repeat("z", 64) + "@" + probe.LongHost(253)},
 	{api.General{Kind: 2, Text: "a"}, "dns:a"},
 	{api.General{Kind: 2, Text: "a.b"}, "dns:a.b"},
 	{api.General{Kind: 2, Text: "Www.Example.COM"}, "dns:Www.Example.COM"},
 	{api.General{Kind: 2, Text: "1.2.3.4x"}, "dns:1.2.3.4x"},
 	{api.General{Kind: 2, Text: "*.a.b"}, "dns:*.a.b"},
 	{api.General{Kind: 2, Text: "dns.name"}, "dns:dns.name"},
-	{api.General{Kind: 2, Text: longHost(253)}, "dns:" + longHost(253)},
-	{api.General{Kind: 2, Text: "*." + longHost(251)}, "dns:*." + longHost(251)},
+	{api.General{Kind: 2, Text: probe.LongHost(253)}, "dns:" + probe.LongHost(253)},
+	{api.General{Kind: 2, Text: "*." + probe.LongHost(251)}, "dns:*." + probe.LongHost(251)},
 	{api.General{Kind: 4, Text: "\x30\x00"}, "name:"},
 	{api.General{Kind: 4, Text: "\x30\x0d\x31\x0b\x30\x09\x06\x03\x55\x04\x06\x13\x02DE"}, "name:C=DE"},
 	{api.General{Kind: 4, Text: "\x30\x0f\x31\x0d\x30\x0b\x06\x03\x55\x04\x0a\x13\x04a, b"}, `name:O=a\, b`},
@@ -148,18 +147,6 @@ var known = []struct {
 	{api.General{Kind: 7, Text: "a.b@"}, "ip:612e6240"},
 	{api.General{Kind: 7, Text: "\x01\x23\x45\x67\x89\xab\xcd\xef\xfe\xdc\xba\x98\x76\x54\x32\x10"}, "ip:0123456789abcdeffedcba9876543210"},
 	{api.General{Kind: 7, Text: strings.Repeat("\x00", 15) + "\x01"}, "ip:00000000000000000000000000000001"},
-}
-
-// longHost is a host's name of n bytes, in labels as long as they may be.
-func longHost(n int) string {
-	var l []string
-	for ; n > 64; n -= 64 {
-		l = append(l, strings.Repeat("b", 63))
-	}
-	if n == 64 { // a label and a dot would leave no byte for the last one
-		l, n = append(l, "c"), n-2
-	}
-	return strings.Join(append(l, strings.Repeat("a", n)), ".")
 }
 
 // hosts are hosts' names of each sort.
@@ -174,7 +161,7 @@ func hosts() []string {
 	}
 	l = append(l, "a"+strings.Repeat("-", 61)+"b", "a."+"1"+strings.Repeat("-", 61)+"2")
 	for _, n := range []int{65, 66, 127, 128, 129, 190, 251, 252, 253} {
-		l = append(l, longHost(n))
+		l = append(l, probe.LongHost(n))
 	}
 	return append(l, strings.Repeat("a.", 126)+"b", strings.Repeat("1.", 126)+"b", strings.Repeat("1.", 125)+"bc")
 }
@@ -195,7 +182,7 @@ func noHosts() []string {
 		l = append(l, one, one+".b", "a."+one, "a."+one+".b", "1"+one[1:])
 	}
 	for _, n := range []int{254, 255, 256, 257, 300, 317, 318, 320, 509, 510, 4096, 1 << 16, 1<<16 + 5, 1 << 20} {
-		l = append(l, longHost(n))
+		l = append(l, probe.LongHost(n))
 	}
 	return append(l, strings.Repeat("a.", 127), strings.Repeat("a.", 127)+"b", strings.Repeat("a.", 126)+"bc", strings.Repeat("a.", 1<<19)+"b", strings.Repeat(".", 1<<20), strings.Repeat("-", 1<<20))
 }
@@ -204,7 +191,7 @@ func noHosts() []string {
 func wilds() []string {
 	l := []string{"*.a.b", "*.A.B", "*.1.a", "*.1.2.a", "*.a.b.c", "*.x.y.a.b", "*.a-b.c", "*.example.com", "*.Example.COM", "*.b.a", "*.xn--a.b", "*.k.s"}
 	for _, n := range []int{65, 66, 128, 129, 249, 250, 251} {
-		l = append(l, "*."+longHost(n))
+		l = append(l, "*."+probe.LongHost(n))
 	}
 	return append(l, "*."+strings.Repeat("a.", 125)+"b", "*."+strings.Repeat("a", 63)+".b")
 }
@@ -218,7 +205,7 @@ func noWilds() []string {
 		"*." + strings.Repeat("a", 64) + ".b", "*.a." + strings.Repeat("1", 63),
 	}
 	for _, n := range []int{252, 253, 254, 255, 256, 300, 509, 1 << 16, 1 << 20} {
-		l = append(l, "*."+longHost(n))
+		l = append(l, "*."+probe.LongHost(n))
 	}
 	return append(l, "*."+strings.Repeat("a.", 126)+"b", "*."+strings.Repeat("a.", 125)+"bc", strings.Repeat("*.", 1<<19)+"a.b", strings.Repeat("*", 1<<20))
 }
@@ -344,15 +331,6 @@ func goods(t *testing.T) []api.General {
 	return l
 }
 
-// noKinds are numbers that are no kind of a general name.
-func noKinds() []int {
-	l := []int{0, 3, 5, 6, 8, 9, 10, 16, 127, 255, -1, -2, -4, -7, -8}
-	for _, k := range []int{1, 2, 4, 7} {
-		l = append(l, k+1<<8, k+1<<16, k+1<<31, k+1<<32, k-1<<32, math.MinInt+k, math.MaxInt-k)
-	}
-	return append(l, math.MaxInt, math.MinInt)
-}
-
 // wrongs are general names of each sort that may not be.
 func wrongs(t *testing.T) []api.General {
 	t.Helper()
@@ -362,7 +340,7 @@ func wrongs(t *testing.T) []api.General {
 			l = append(l, api.General{Kind: kind, Text: s})
 		}
 	}
-	for _, k := range noKinds() {
+	for _, k := range probe.NoKinds() {
 		add(k, "", "a", "a.b", "*.a.b", "a@b", "abcd", "\x30\x00", strings.Repeat("a", 16))
 	}
 	add(1, noEmails()...)
@@ -452,19 +430,4 @@ func asText(t *testing.T, s string) bool {
 		t.Fatalf("Parse(%.300q): %s, error %d; want %s, error %d", s, show(g), e, show(want), wrong)
 	}
 	return ok
-}
-
-// changed is a text that is one byte away from s: by another one, one more, or one fewer.
-func changed(draws *probe.Draws, s, alphabet string) string {
-	b := []byte(s)
-	at := int(draws.Next() % uint64(len(b)+1))
-	x := alphabet[draws.Next()%uint64(len(alphabet))]
-	switch {
-	case draws.Next()%3 == 0 || at == len(b):
-		return string(slices.Insert(b, at, x))
-	case draws.Next()%2 == 0:
-		return string(slices.Delete(b, at, at+1))
-	}
-	b[at] = x
-	return string(b)
 }

@@ -149,7 +149,7 @@ func TestMatchFirst(t *testing.T) {
 // P13.3: patterns and names as long as they may be, and longer.
 func TestMatchLong(t *testing.T) {
 	for n := 240; n < 260; n++ {
-		rest := longHost(n)
+		rest := probe.LongHost(n)
 		for m := 1; m < 12; m++ {
 			first := strings.Repeat("x", m)
 			want := n+2 <= 253 && n+1+m <= 253
@@ -179,8 +179,8 @@ func TestMatchOfAny(t *testing.T) {
 	for i := range 20000 {
 		pattern := all[i%len(all)]
 		s := strings.Replace(pattern, "*", "x", 1)
-		asMatch(t, pattern, changed(&draws, s, alphabet))
-		asMatch(t, changed(&draws, pattern, alphabet), s)
+		asMatch(t, pattern, draws.Changed(s, alphabet))
+		asMatch(t, draws.Changed(pattern, alphabet), s)
 		asMatch(t, string(draws.Bytes(i%20)), s)
 		asMatch(t, pattern, string(draws.Bytes(i%20)))
 	}

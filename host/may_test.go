@@ -68,7 +68,7 @@ func TestMayNames(t *testing.T) {
 	for _, s := range nameTexts() {
 		b := nameBytes(t, s)
 		for range 400 {
-			g := api.General{Kind: 4, Text: changed(&draws, b, alphabet)}
+			g := api.General{Kind: 4, Text: draws.Changed(b, alphabet)}
 			if mayBe(g) {
 				taken++
 				takes(t, g, textOf(t, g))

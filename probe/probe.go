@@ -28,13 +28,16 @@ func Raw(digits string) []byte {
 type unit interface{ byte | uint64 }
 
 // Roomy is l with spare room behind it that must not be touched; whole is both.
-func Roomy[T unit](l []T) (part, whole []T) {
-	whole = append(slices.Clone(l), slices.Repeat([]T{0xee}, 40)...)
+func Roomy[T unit](l []T) (part, whole []T) { return RoomyWith(l, 0xee) }
+
+// RoomyWith is l with spare room behind it, in which something stands; whole is both.
+func RoomyWith[T any](l []T, spare T) (part, whole []T) {
+	whole = append(slices.Clone(l), slices.Repeat([]T{spare}, 40)...)
 	return whole[:len(l):len(whole)], whole
 }
 
 // Scribble writes over a list, and over all the spare room behind it.
-func Scribble[T unit](l []T, with T) {
+func Scribble[T any](l []T, with T) {
 	l = l[:cap(l)]
 	for i := range l {
 		l[i] = with

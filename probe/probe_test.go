@@ -59,6 +59,18 @@ func TestLimbs(t *testing.T) {
 	}
 }
 
+func TestRoomyWith(t *testing.T) {
+	l := []string{"a", "b"}
+	part, whole := probe.RoomyWith(l, "spare")
+	if !slices.Equal(part, l) || len(whole) <= len(l) || cap(part) != len(whole) || whole[2] != "spare" {
+		t.Errorf("%q of %d, room for %d", part, len(whole), cap(part))
+	}
+	probe.Scribble(part, "x")
+	if l[0] != "a" || !slices.Equal(whole, slices.Repeat([]string{"x"}, len(whole))) {
+		t.Errorf("%q, %q", l, whole)
+	}
+}
+
 func TestShort(t *testing.T) {
 	var l []string
 	for b := range probe.Short([]byte("xy"), 2) {
