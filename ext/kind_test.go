@@ -42,49 +42,14 @@ func single[T comparable](k kind[T]) kind[T] {
 	return k
 }
 
-func sameExt(a, b api.Ext) bool {
-	return a.Id == b.Id && a.Critical == b.Critical && string(a.Value) == string(b.Value)
-}
-
-func sameExts(a, b []api.Ext) bool { return slices.EqualFunc(a, b, sameExt) }
-
-// roomyExts is a copy with spare room behind the list and behind each Value; left tells whether all of it is as it was.
-func roomyExts(l []api.Ext) (given []api.Ext, left func() bool) {
-	spare := api.Ext{Id: 126, Critical: true, Value: []byte("spare")}
-	given, whole := probe.RoomyWith(l, spare)
-	var wholes []func() bool
-	for i, x := range l {
-		part, room := probe.Roomy(x.Value)
-		was := slices.Clone(room)
-		given[i].Value = part
-		wholes = append(wholes, func() bool { return string(room) == string(was) })
-	}
-	return given, func() bool {
-		for _, as := range wholes {
-			if !as() {
-				return false
-			}
-		}
-		return sameExts(given, l) && !slices.ContainsFunc(whole[len(l):], func(x api.Ext) bool { return !sameExt(x, spare) })
-	}
-}
-
-// scribbleExts writes over each Value, and over the list.
-func scribbleExts(l []api.Ext) {
-	for _, x := range l {
-		probe.Scribble(x.Value, 0x77)
-	}
-	probe.Scribble(l, api.Ext{Id: 125, Value: []byte("scribbled")})
-}
-
 func exts() kind[[]api.Ext] {
 	return kind[[]api.Ext]{
 		what:     "extensions",
 		write:    ext.Encode,
 		read:     ext.Decode,
-		same:     sameExts,
-		roomy:    roomyExts,
-		scribble: scribbleExts,
+		same:     probe.SameExts,
+		roomy:    probe.RoomyExts,
+		scribble: probe.ScribbleExts,
 		may: func(l []api.Ext) bool {
 			ids := map[int]int{}
 			for _, x := range l {
@@ -118,15 +83,6 @@ func exts() kind[[]api.Ext] {
 	}
 }
 
-// row is n extensions of different Ids, every other one critical, with Values of their own.
-func row(n int) []api.Ext {
-	var l []api.Ext
-	for i := range n {
-		l = append(l, api.Ext{Id: (i*37 + 19) % 128, Critical: i%2 == 0, Value: []byte(strings.Repeat("v", i))})
-	}
-	return l
-}
-
 // lengths of Values: those that take one, two, three and four bytes to say, alone and of the elements around.
 func lengths() []int {
 	return []int{0, 1, 2, 20, 112, 113, 114, 115, 116, 117, 118, 119, 120, 125, 126, 127, 128, 129, 130, 235, 236, 237, 238, 239, 240, 241, 242, 243, 244, 245, 246, 247, 253, 254, 255, 256, 257, 1000, 65515, 65516, 65517, 65518, 65519, 65520, 65521, 65522, 65523, 65534, 65535, 65536}
@@ -142,17 +98,17 @@ func goodExts() [][]api.Ext {
 		{{Id: 29, Value: raw("06 03 55 1d 1d 01 01 ff 04 00")}}, // what looks like parts of an extension
 	}
 	for n := 1; n <= 16; n++ {
-		l = append(l, row(n))
+		l = append(l, probe.ExtRow(n))
 	}
 	return l
 }
 
 func wrongExts() [][]api.Ext {
-	l := [][]api.Ext{nil, {}, row(17), row(18), row(32), row(128)}
+	l := [][]api.Ext{nil, {}, probe.ExtRow(17), probe.ExtRow(18), probe.ExtRow(32), probe.ExtRow(128)}
 	for _, id := range []int{-1, 128, 129, 255, 256, -128, 256 + 19, 1<<16 + 19, 1<<31 + 19, 1<<32 + 19, -(1 << 32), math.MaxInt, math.MinInt, math.MinInt + 19} {
-		l = append(l, []api.Ext{{Id: id}}, []api.Ext{{Id: id, Critical: true, Value: []byte{1}}}, append(row(3), api.Ext{Id: id}), append([]api.Ext{{Id: id}}, row(15)...))
+		l = append(l, []api.Ext{{Id: id}}, []api.Ext{{Id: id, Critical: true, Value: []byte{1}}}, append(probe.ExtRow(3), api.Ext{Id: id}), append([]api.Ext{{Id: id}}, probe.ExtRow(15)...))
 	}
-	return append(l, []api.Ext{{Id: 19}, {Id: 19}}, []api.Ext{{Id: 19, Critical: true}, {Id: 19, Value: []byte{1}}}, []api.Ext{{Id: 0}, {Id: 5}, {Id: 0}}, []api.Ext{{Id: 19, Value: make([]byte, 65537)}}, append(row(2), api.Ext{Id: 1, Value: make([]byte, 1<<17)}))
+	return append(l, []api.Ext{{Id: 19}, {Id: 19}}, []api.Ext{{Id: 19, Critical: true}, {Id: 19, Value: []byte{1}}}, []api.Ext{{Id: 0}, {Id: 5}, {Id: 0}}, []api.Ext{{Id: 19, Value: make([]byte, 65537)}}, append(probe.ExtRow(2), api.Ext{Id: 1, Value: make([]byte, 1<<17)}))
 }
 
 func basics() kind[api.Basic] {

@@ -15,6 +15,7 @@ import (
 	"chancery/api"
 	"chancery/der"
 	"chancery/ext"
+	"chancery/probe"
 )
 
 // libraryKey is a key that the library signs with, without chance.
@@ -88,7 +89,7 @@ func TestLibraryAuthority(t *testing.T) {
 	}, v[api.ETrees])
 	l, _ := ext.Decode(list)
 	for i, x := range own.Extensions {
-		if want := (api.Ext{Id: x.Id[3], Critical: x.Critical, Value: x.Value}); len(l) != len(own.Extensions) || !sameExt(l[i], want) {
+		if want := (api.Ext{Id: x.Id[3], Critical: x.Critical, Value: x.Value}); len(l) != len(own.Extensions) || !probe.SameExt(l[i], want) {
 			t.Errorf("%q; want %q", show(l[i]), show(want))
 		}
 	}

@@ -8,6 +8,7 @@ import (
 
 	"chancery/api"
 	"chancery/ext"
+	"chancery/probe"
 )
 
 // knownExts are lists with their bytes, written out.
@@ -45,17 +46,17 @@ func TestExtSorts(t *testing.T) { exts().sortsOf(t) }
 func TestExtCounts(t *testing.T) {
 	k := exts()
 	for n := range 129 {
-		if got := k.asWords(t, row(n)); got != (n >= 1 && n <= 16) {
+		if got := k.asWords(t, probe.ExtRow(n)); got != (n >= 1 && n <= 16) {
 			t.Errorf("%d extensions: %t", n, got)
 		}
-		b, _ := k.bytes(row(n))
+		b, _ := k.bytes(probe.ExtRow(n))
 		if got := k.asLibrary(t, b); got != (n >= 1 && n <= 16) {
 			t.Errorf("the bytes of %d extensions: %t", n, got)
 		}
 	}
 	k.refuses(t, make([]api.Ext, 1<<16))
 	k.refuses(t, make([]api.Ext, 1<<16+1))
-	k.refuses(t, slices.Repeat(row(1), 256+1))
+	k.refuses(t, slices.Repeat(probe.ExtRow(1), 256+1))
 }
 
 // P15.1: each Id, alone and at the end; those near the bounds in bytes too.
@@ -96,7 +97,7 @@ func TestExtTwice(t *testing.T) {
 	for n := 2; n <= 16; n++ {
 		for i := range n {
 			for j := range i {
-				l := row(n)
+				l := probe.ExtRow(n)
 				l[i].Id = l[j].Id
 				k.refuses(t, l)
 				b, _ := k.bytes(l)
@@ -125,7 +126,7 @@ func TestExtValues(t *testing.T) {
 		k.asWords(t, []api.Ext{{Id: 3, Value: []byte(strings.Repeat("v", n))}})
 	}
 	for i := range 16 {
-		l := row(16)
+		l := probe.ExtRow(16)
 		l[i].Value = make([]byte, 65536)
 		b, _ := k.bytes(l)
 		k.takes(t, l, b)
@@ -136,7 +137,7 @@ func TestExtValues(t *testing.T) {
 			k.noBytes(t, "a Value too long", b)
 		}
 	}
-	l := row(16)
+	l := probe.ExtRow(16)
 	for i := range l {
 		l[i].Value = []byte(strings.Repeat(string([]byte{byte(i)}), 65536))
 	}
@@ -223,16 +224,16 @@ func TestFind(t *testing.T) {
 		{Id: -1, Value: []byte("below")}, {Id: 128, Critical: true}, {Id: math.MaxInt, Value: make([]byte, 65537)}, {Id: math.MinInt}, {Id: -1, Critical: true},
 	}
 	for id, want := range map[int]int{19: 0, 15: 1, 14: 3, 0: 5, 127: 6, -1: 8, 128: 9, math.MaxInt: 10, math.MinInt: 11} {
-		if x, found := ext.Find(l, id); !found || !sameExt(x, l[want]) {
+		if x, found := ext.Find(l, id); !found || !probe.SameExt(x, l[want]) {
 			t.Errorf("Find of %d: %.100q, %t", id, show(x), found)
 		}
 	}
 	for _, id := range []int{1, 2, 13, 16, 18, 20, 126, 129, 256, 256 + 19, 1<<32 + 19, -2, -19, math.MaxInt - 1, math.MinInt + 1, math.MinInt + 19} {
-		if x, found := ext.Find(l, id); found || !sameExt(x, api.Ext{}) {
+		if x, found := ext.Find(l, id); found || !probe.SameExt(x, api.Ext{}) {
 			t.Errorf("Find of %d: %.100q, %t", id, show(x), found)
 		}
 	}
-	if x, found := ext.Find(l[:5], 0); found || !sameExt(x, api.Ext{}) {
+	if x, found := ext.Find(l[:5], 0); found || !probe.SameExt(x, api.Ext{}) {
 		t.Errorf("Find of 0: %q, %t", show(x), found)
 	}
 }
@@ -240,16 +241,16 @@ func TestFind(t *testing.T) {
 // P15.1: each one of rows, whatever stands ahead of it, and of more than may be.
 func TestFindEach(t *testing.T) {
 	for _, n := range []int{1, 2, 16, 17, 128} {
-		l := row(n)
+		l := probe.ExtRow(n)
 		for i, want := range l {
-			if x, found := ext.Find(l, want.Id); !found || !sameExt(x, want) {
+			if x, found := ext.Find(l, want.Id); !found || !probe.SameExt(x, want) {
 				t.Errorf("of %d Find of the Id %d: %q, %t", n, want.Id, show(x), found)
 			}
-			if x, found := ext.Find(l[:i], want.Id); found || !sameExt(x, api.Ext{}) {
+			if x, found := ext.Find(l[:i], want.Id); found || !probe.SameExt(x, api.Ext{}) {
 				t.Errorf("of the first %d Find of the Id %d: %q, %t", i, want.Id, show(x), found)
 			}
 			twice := append(slices.Clone(l), api.Ext{Id: want.Id, Critical: !want.Critical, Value: []byte("later")})
-			if x, found := ext.Find(twice, want.Id); !found || !sameExt(x, want) {
+			if x, found := ext.Find(twice, want.Id); !found || !probe.SameExt(x, want) {
 				t.Errorf("of two Find of the Id %d: %q, %t", want.Id, show(x), found)
 			}
 		}

@@ -86,7 +86,7 @@ func TestListsOfOneAnswer(t *testing.T) {
 			probe.Scribble(got[i].Value, 0x77)
 			_ = append(got[i].Value, "more and more and more and more"...)
 			for j := range l {
-				if i != j && !sameExt(got[j], l[j]) {
+				if i != j && !probe.SameExt(got[j], l[j]) {
 					t.Fatalf("the Values %d and %d of %.300q share memory", i, j, show(l))
 				}
 			}
@@ -114,19 +114,19 @@ func TestListsOfOneAnswer(t *testing.T) {
 
 // P2: what is found is memory of its own, and the list is left.
 func TestFoundIsItsOwn(t *testing.T) {
-	l := append(row(16), api.Ext{Id: -1, Value: []byte("a")}, api.Ext{Id: 19, Value: []byte("b")})
+	l := append(probe.ExtRow(16), api.Ext{Id: -1, Value: []byte("a")}, api.Ext{Id: 19, Value: []byte("b")})
 	for _, want := range l[:17] {
-		given, left := roomyExts(l)
+		given, left := probe.RoomyExts(l)
 		one, found1 := ext.Find(given, want.Id)
 		two, found2 := ext.Find(given, want.Id)
 		probe.Scribble(one.Value, 0x77)
 		_ = append(one.Value, "more and more"...)
 		three, found3 := ext.Find(given, want.Id)
-		if !found1 || !found2 || !found3 || !left() || !sameExt(two, want) || !sameExt(three, want) {
+		if !found1 || !found2 || !found3 || !left() || !probe.SameExt(two, want) || !probe.SameExt(three, want) {
 			t.Fatalf("what is found of %d shares memory: %q, %q; the list is left: %t", want.Id, show(two), show(three), left())
 		}
-		scribbleExts(given)
-		if !sameExt(two, want) {
+		probe.ScribbleExts(given)
+		if !probe.SameExt(two, want) {
 			t.Fatalf("what is found of %d shares the list's memory: %q", want.Id, show(two))
 		}
 		if _, found := ext.Find(l, 126); found {
@@ -139,7 +139,7 @@ func TestFoundIsItsOwn(t *testing.T) {
 func TestNoLists(t *testing.T) {
 	exts().refuses(t, nil)
 	exts().refuses(t, []api.Ext{})
-	exts().refuses(t, row(1)[:0])
+	exts().refuses(t, probe.ExtRow(1)[:0])
 	purposes().refuses(t, nil)
 	purposes().refuses(t, []int{})
 	names().refuses(t, nil)
@@ -155,13 +155,13 @@ func TestNoLists(t *testing.T) {
 		for _, f := range faces() {
 			f.noBytes(t, "no bytes", none)
 		}
-		if x, found := ext.Find([]api.Ext{{Id: 19, Value: none}}, 19); !found || !sameExt(x, api.Ext{Id: 19}) {
+		if x, found := ext.Find([]api.Ext{{Id: 19, Value: none}}, 19); !found || !probe.SameExt(x, api.Ext{Id: 19}) {
 			t.Errorf("%q, %t", show(x), found)
 		}
 	}
-	for _, none := range [][]api.Ext{nil, {}, row(1)[:0]} {
+	for _, none := range [][]api.Ext{nil, {}, probe.ExtRow(1)[:0]} {
 		for _, id := range []int{0, 19, -1} {
-			if x, found := ext.Find(none, id); found || !sameExt(x, api.Ext{}) {
+			if x, found := ext.Find(none, id); found || !probe.SameExt(x, api.Ext{}) {
 				t.Errorf("%q, %t", show(x), found)
 			}
 		}
@@ -206,7 +206,7 @@ func TestAtOnce(t *testing.T) {
 	var group sync.WaitGroup
 	for range 8 {
 		group.Go(func() {
-			l := row(5)
+			l := probe.ExtRow(5)
 			for range 100 {
 				b, e1 := ext.Encode(l)
 				got, e2 := ext.Decode(b)
@@ -214,7 +214,7 @@ func TestAtOnce(t *testing.T) {
 				v, e4 := ext.ToBasic([]byte("\x30\x03\x01\x01\xff"))
 				_, e5 := ext.Purposes(1, 1)
 				x, found := ext.Find(got, l[3].Id)
-				if e1 != api.OK || e2 != api.OK || e3 != api.ErrExt || e4 != api.OK || e5 != api.ErrExt || !sameExts(got, l) || v != (api.Basic{CA: true, Path: -1}) || !found || !sameExt(x, l[3]) {
+				if e1 != api.OK || e2 != api.OK || e3 != api.ErrExt || e4 != api.OK || e5 != api.ErrExt || !probe.SameExts(got, l) || v != (api.Basic{CA: true, Path: -1}) || !found || !probe.SameExt(x, l[3]) {
 					t.Errorf("%q, %q, errors %d, %d, %d, %d, %d", show(got), show(v), e1, e2, e3, e4, e5)
 				}
 			}

@@ -86,13 +86,13 @@ func TestToNamesThatMayNotBe(t *testing.T) {
 		if g.Kind < 0 || g.Kind > 30 {
 			continue
 		}
-		one := put(byte(0x80+g.Kind), []byte(g.Text))
+		one := probe.Put(byte(0x80+g.Kind), []byte(g.Text))
 		if g.Kind == 4 {
 			one[0] = 0xa4
 		}
-		k.noBytes(t, "one that may not be", put(0x30, one))
-		k.noBytes(t, "one that may not be, ahead", put(0x30, one, raw("82 01 61")))
-		k.noBytes(t, "one that may not be, behind", put(0x30, raw("82 01 61"), one))
+		k.noBytes(t, "one that may not be", probe.Put(0x30, one))
+		k.noBytes(t, "one that may not be, ahead", probe.Put(0x30, one, raw("82 01 61")))
+		k.noBytes(t, "one that may not be, behind", probe.Put(0x30, raw("82 01 61"), one))
 	}
 }
 
@@ -102,11 +102,11 @@ func TestToNamesTags(t *testing.T) {
 	taken := map[int]int{}
 	for tag := range 256 {
 		for _, text := range []string{"a", "a.b", "a@b", "*.a.b", "abcd", "\x30\x00", nameBytes("C=DE"), strings.Repeat("\x00", 16), "", "\x82\x01a", strings.Repeat("\x00", 8)} {
-			if k.asLibrary(t, put(0x30, put(byte(tag), []byte(text)))) {
+			if k.asLibrary(t, probe.Put(0x30, probe.Put(byte(tag), []byte(text)))) {
 				taken[tag]++
 			}
-			k.asLibrary(t, put(0x30, raw("82 01 61"), put(byte(tag), []byte(text))))
-			k.asLibrary(t, put(0x30, put(byte(tag), []byte(text)), raw("82 01 61")))
+			k.asLibrary(t, probe.Put(0x30, raw("82 01 61"), probe.Put(byte(tag), []byte(text))))
+			k.asLibrary(t, probe.Put(0x30, probe.Put(byte(tag), []byte(text)), raw("82 01 61")))
 		}
 	}
 	if len(taken) != 4 || taken[0x81] != 1 || taken[0x82] != 4 || taken[0x87] != 2 || taken[0xa4] != 2 {
@@ -169,7 +169,7 @@ func TestToNamesOfFew(t *testing.T) {
 	k := names()
 	taken := 0
 	for b := range probe.Short([]byte{0x00, 0x01, 0x02, 0x30, 0x61, 0x82, 0xa4}, 5) {
-		if k.asLibrary(t, put(0x30, b)) {
+		if k.asLibrary(t, probe.Put(0x30, b)) {
 			taken++
 		}
 		k.asLibrary(t, b)

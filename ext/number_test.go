@@ -88,8 +88,8 @@ func TestNoNumber(t *testing.T) {
 	} {
 		numbers().noBytes(t, what, raw(digits))
 	}
-	numbers().noBytes(t, "a very great number", put(0x02, []byte{1}, make([]byte, 1<<20)))
-	numbers().noBytes(t, "a number of 20 bytes", put(0x02, slices.Repeat([]byte{0x11}, 20)))
+	numbers().noBytes(t, "a very great number", probe.Put(0x02, []byte{1}, make([]byte, 1<<20)))
+	numbers().noBytes(t, "a number of 20 bytes", probe.Put(0x02, slices.Repeat([]byte{0x11}, 20)))
 }
 
 // P15.2, P15.3: reasons that are written out: each number from -1 to 11.
@@ -158,10 +158,10 @@ func TestToIntegersOfFew(t *testing.T) {
 	number, reason := numbers(), reasons()
 	var taken [2]int
 	try := func(content ...byte) {
-		if number.asLibrary(t, put(0x02, content)) {
+		if number.asLibrary(t, probe.Put(0x02, content)) {
 			taken[0]++
 		}
-		if reason.asLibrary(t, put(0x0a, content)) {
+		if reason.asLibrary(t, probe.Put(0x0a, content)) {
 			taken[1]++
 		}
 	}
@@ -200,16 +200,16 @@ func TestKnownKeys(t *testing.T) {
 func TestKeyLengths(t *testing.T) {
 	for n := range 300 {
 		id := slices.Repeat([]byte{0x5a}, n)
-		if got := subjects().asLibrary(t, put(0x04, id)); got != (n == 20) {
+		if got := subjects().asLibrary(t, probe.Put(0x04, id)); got != (n == 20) {
 			t.Errorf("Subject of %d bytes: %t", n, got)
 		}
-		if got := issuers().asLibrary(t, put(0x30, put(0x80, id))); got != (n == 20) {
+		if got := issuers().asLibrary(t, probe.Put(0x30, probe.Put(0x80, id))); got != (n == 20) {
 			t.Errorf("Issuer of %d bytes: %t", n, got)
 		}
 	}
 	for _, id := range [][]byte{make([]byte, 19), make([]byte, 21), make([]byte, 0), make([]byte, 256+20), make([]byte, 1<<16+20)} {
-		subjects().noBytes(t, "another length", put(0x04, id))
-		issuers().noBytes(t, "another length", put(0x30, put(0x80, id)))
+		subjects().noBytes(t, "another length", probe.Put(0x04, id))
+		issuers().noBytes(t, "another length", probe.Put(0x30, probe.Put(0x80, id)))
 	}
 }
 

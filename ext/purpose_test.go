@@ -146,15 +146,15 @@ func TestToPurposesNear(t *testing.T) {
 		for x := range 256 {
 			b := purposeBytes(5)
 			b[at] = byte(x)
-			k.asLibrary(t, put(0x30, b))
-			k.asLibrary(t, put(0x30, purposeBytes(6), b))
-			k.asLibrary(t, put(0x30, b, purposeBytes(6)))
+			k.asLibrary(t, probe.Put(0x30, b))
+			k.asLibrary(t, probe.Put(0x30, purposeBytes(6), b))
+			k.asLibrary(t, probe.Put(0x30, b, purposeBytes(6)))
 		}
 	}
 	for b := range probe.Short([]byte{0x00, 0x01, 0x03, 0x06, 0x7f, 0x80, 0x81, 0xff}, 4) {
-		k.asLibrary(t, put(0x30, put(0x06, b)))
-		k.asLibrary(t, put(0x30, put(0x06, raw("2b 06 01 05 05 07 03"), b)))
-		k.asLibrary(t, put(0x30, purposeBytes(5), put(0x06, raw("2b 06 01 05 05 07 03"), b)))
-		k.asLibrary(t, put(0x30, b))
+		k.asLibrary(t, probe.Put(0x30, probe.Put(0x06, b)))
+		k.asLibrary(t, probe.Put(0x30, probe.Put(0x06, raw("2b 06 01 05 05 07 03"), b)))
+		k.asLibrary(t, probe.Put(0x30, purposeBytes(5), probe.Put(0x06, raw("2b 06 01 05 05 07 03"), b)))
+		k.asLibrary(t, probe.Put(0x30, b))
 	}
 }

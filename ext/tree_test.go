@@ -85,14 +85,14 @@ func TestTreesThatMayNotBe(t *testing.T) {
 		if tree.Kind < 0 || tree.Kind > 30 {
 			continue
 		}
-		one := put(byte(0x80+tree.Kind), []byte(tree.Base))
+		one := probe.Put(byte(0x80+tree.Kind), []byte(tree.Base))
 		if tree.Kind == 4 {
 			one[0] = 0xa4
 		}
 		for _, side := range []byte{0xa0, 0xa1} {
-			k.noBytes(t, "one that may not be", put(0x30, put(side, put(0x30, one))))
-			k.noBytes(t, "one that may not be, behind", put(0x30, put(side, raw("30 03 82 01 61"), put(0x30, one))))
-			k.noBytes(t, "one that may not be, ahead", put(0x30, put(side, put(0x30, one), raw("30 03 82 01 61"))))
+			k.noBytes(t, "one that may not be", probe.Put(0x30, probe.Put(side, probe.Put(0x30, one))))
+			k.noBytes(t, "one that may not be, behind", probe.Put(0x30, probe.Put(side, raw("30 03 82 01 61"), probe.Put(0x30, one))))
+			k.noBytes(t, "one that may not be, ahead", probe.Put(0x30, probe.Put(side, probe.Put(0x30, one), raw("30 03 82 01 61"))))
 		}
 	}
 }
@@ -103,14 +103,14 @@ func TestToTreesTags(t *testing.T) {
 	sides, inner := map[int]int{}, map[int]int{}
 	for tag := range 256 {
 		x := byte(tag)
-		if k.asLibrary(t, put(0x30, put(x, raw("30 03 82 01 61")))) {
+		if k.asLibrary(t, probe.Put(0x30, probe.Put(x, raw("30 03 82 01 61")))) {
 			sides[tag]++
 		}
-		k.asLibrary(t, put(x, put(0xa0, raw("30 03 82 01 61"))))
-		k.asLibrary(t, put(0x30, put(0xa0, put(x, raw("82 01 61")))))
-		k.asLibrary(t, put(0x30, put(0xa0, raw("30 03 82 01 61")), put(x, raw("30 03 82 01 61"))))
+		k.asLibrary(t, probe.Put(x, probe.Put(0xa0, raw("30 03 82 01 61"))))
+		k.asLibrary(t, probe.Put(0x30, probe.Put(0xa0, probe.Put(x, raw("82 01 61")))))
+		k.asLibrary(t, probe.Put(0x30, probe.Put(0xa0, raw("30 03 82 01 61")), probe.Put(x, raw("30 03 82 01 61"))))
 		for _, base := range []string{"a", ".a", "a@b", "*.a.b", "abcd", "\x30\x00", strings.Repeat("\x00", 8), strings.Repeat("\x00", 32), strings.Repeat("\x00", 16), ""} {
-			if k.asLibrary(t, put(0x30, put(0xa1, put(0x30, put(x, []byte(base)))))) {
+			if k.asLibrary(t, probe.Put(0x30, probe.Put(0xa1, probe.Put(0x30, probe.Put(x, []byte(base)))))) {
 				inner[tag]++
 			}
 		}
@@ -182,7 +182,7 @@ func TestToTreesOfFew(t *testing.T) {
 	k := trees()
 	taken := 0
 	for b := range probe.Short([]byte{0x00, 0x01, 0x02, 0x30, 0x61, 0x82, 0xa0, 0xa4}, 4) {
-		for _, c := range [][]byte{put(0x30, b), put(0x30, put(0xa0, b)), put(0x30, put(0xa1, put(0x30, b))), put(0x30, put(0xa0, put(0x30, b)), put(0xa1, raw("30 03 82 01 61"))), put(0x30, put(0xa0, raw("30 03 82 01 61"), b))} {
+		for _, c := range [][]byte{probe.Put(0x30, b), probe.Put(0x30, probe.Put(0xa0, b)), probe.Put(0x30, probe.Put(0xa1, probe.Put(0x30, b))), probe.Put(0x30, probe.Put(0xa0, probe.Put(0x30, b)), probe.Put(0xa1, raw("30 03 82 01 61"))), probe.Put(0x30, probe.Put(0xa0, raw("30 03 82 01 61"), b))} {
 			if k.asLibrary(t, c) {
 				taken++
 			}

@@ -51,7 +51,7 @@ func TestToUsageContents(t *testing.T) {
 	k := usages()
 	taken := 0
 	try := func(content ...byte) {
-		if k.asLibrary(t, put(0x03, content)) {
+		if k.asLibrary(t, probe.Put(0x03, content)) {
 			taken++
 		}
 	}
@@ -73,7 +73,7 @@ func TestToUsageContents(t *testing.T) {
 	}
 	for unused := range 9 {
 		for _, bits := range []string{"00 00 01", "00 00 80", "80 00 00", "80 80 80", "ff ff ff", "ff 80 00", "80 00 00 00 00 00 00 80"} {
-			k.noBytes(t, "more bytes", put(0x03, []byte{byte(unused)}, raw(bits)))
+			k.noBytes(t, "more bytes", probe.Put(0x03, []byte{byte(unused)}, raw(bits)))
 		}
 	}
 }

@@ -77,7 +77,7 @@ func TestOneElement(t *testing.T) {
 			if i%4 != 0 && len(b) > 40 {
 				continue
 			}
-			for what, near := range changed(b) {
+			for what, near := range probe.Altered(b, strangers()...) {
 				count++
 				if f.asLibrary(t, near) {
 					taken++
@@ -96,13 +96,13 @@ func TestOneElement(t *testing.T) {
 func TestLongerLengths(t *testing.T) {
 	for _, f := range faces() {
 		for _, b := range few(t, f, 3000) {
-			count := len(tree(b).all())
+			count := len(probe.Tree(b).All())
 			for i := range count {
 				for long := 1; long <= 3; long++ {
-					root := tree(b)
-					n := root.all()[i]
-					n.long = long
-					f.noBytes(t, "a length not the shortest", root.inner())
+					root := probe.Tree(b)
+					n := root.All()[i]
+					n.Long = long
+					f.noBytes(t, "a length not the shortest", root.Inner())
 				}
 			}
 		}
@@ -115,9 +115,9 @@ func TestOtherKinds(t *testing.T) {
 		for _, other := range faces() {
 			for _, b := range few(t, other, 3000) {
 				f.asLibrary(t, b)
-				f.asLibrary(t, put(0x30, b))
-				f.asLibrary(t, put(0x04, b))
-				f.asLibrary(t, tree(b).parts[0].inner())
+				f.asLibrary(t, probe.Put(0x30, b))
+				f.asLibrary(t, probe.Put(0x04, b))
+				f.asLibrary(t, probe.Tree(b).Parts[0].Inner())
 			}
 		}
 	}
@@ -134,10 +134,10 @@ func TestOfAny(t *testing.T) {
 			b := draws.Bytes(i % 90)
 			f.asLibrary(t, b)
 			for _, tag := range []byte{0x01, 0x02, 0x03, 0x04, 0x06, 0x0a, 0x30, 0x31} {
-				f.asLibrary(t, put(tag, b))
+				f.asLibrary(t, probe.Put(tag, b))
 			}
-			f.asLibrary(t, put(0x30, put(0xa0, put(0x30, b))))
-			f.asLibrary(t, put(0x30, put(0x30, b)))
+			f.asLibrary(t, probe.Put(0x30, probe.Put(0xa0, probe.Put(0x30, b))))
+			f.asLibrary(t, probe.Put(0x30, probe.Put(0x30, b)))
 		}
 	}
 }
@@ -151,20 +151,20 @@ func TestVeryMany(t *testing.T) {
 			b := bytes.Repeat(one, size/len(one))
 			f.noBytes(t, "very many", b)
 			for _, tag := range []byte{0x30, 0x04, 0x02, 0x03, 0x0a} {
-				f.noBytes(t, "very many in one", put(tag, b))
+				f.noBytes(t, "very many in one", probe.Put(tag, b))
 			}
-			f.noBytes(t, "very many in two", put(0x30, put(0x30, b)))
-			f.noBytes(t, "very many in two", put(0x30, put(0xa0, b)))
-			f.noBytes(t, "very many in two", put(0x30, put(0xa0, b), put(0xa1, b)))
-			f.noBytes(t, "very many in two", put(0x30, put(0x82, b)))
-			f.noBytes(t, "very many in two", put(0x30, put(0xa4, b)))
-			f.noBytes(t, "very many in two", put(0x30, put(0x06, b)))
-			f.noBytes(t, "very many in three", put(0x30, put(0xa0, put(0x30, b))))
-			f.noBytes(t, "very many in three", put(0x30, put(0x30, put(0x06, b))))
+			f.noBytes(t, "very many in two", probe.Put(0x30, probe.Put(0x30, b)))
+			f.noBytes(t, "very many in two", probe.Put(0x30, probe.Put(0xa0, b)))
+			f.noBytes(t, "very many in two", probe.Put(0x30, probe.Put(0xa0, b), probe.Put(0xa1, b)))
+			f.noBytes(t, "very many in two", probe.Put(0x30, probe.Put(0x82, b)))
+			f.noBytes(t, "very many in two", probe.Put(0x30, probe.Put(0xa4, b)))
+			f.noBytes(t, "very many in two", probe.Put(0x30, probe.Put(0x06, b)))
+			f.noBytes(t, "very many in three", probe.Put(0x30, probe.Put(0xa0, probe.Put(0x30, b))))
+			f.noBytes(t, "very many in three", probe.Put(0x30, probe.Put(0x30, probe.Put(0x06, b))))
 		}
 		deep := []byte{}
 		for range 2000 {
-			deep = put(0x30, deep)
+			deep = probe.Put(0x30, deep)
 		}
 		f.noBytes(t, "very deep", deep)
 		f.noBytes(t, "too long for an element", make([]byte, api.MaxContent+10))
