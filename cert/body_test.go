@@ -21,7 +21,7 @@ var knownBodies = []struct {
 	bytes string
 }{
 	{
-		api.Cert{Serial: []byte{5}, Issuer: named("a"), To: 100, Subject: named("b"), Key: base, Exts: []api.Ext{{Id: 19, Critical: true, Value: []byte{0x30, 0}}}},
+		api.Cert{Serial: []byte{5}, Issuer: probe.Named("a"), To: 100, Subject: probe.Named("b"), Key: base, Exts: []api.Ext{{Id: 19, Critical: true, Value: []byte{0x30, 0}}}},
 		"30 81 bd a0 03 02 01 02 02 01 05" + ecdsaWithSHA256 + "30 0c 31 0a 30 08 06 03 55 04 03 13 01 61" +
 			"30 1e 17 0d 37 30 30 31 30 31 30 30 30 30 30 30 5a 17 0d 37 30 30 31 30 31 30 30 30 31 34 30 5a" + "30 0c 31 0a 30 08 06 03 55 04 03 13 01 62" +
 			baseKey + "a3 10 30 0e 30 0c 06 03 55 1d 13 01 01 ff 04 02 30 00",
@@ -32,7 +32,7 @@ var knownBodies = []struct {
 			"30 20 17 0d 34 39 31 32 33 31 32 33 35 39 35 39 5a 18 0f 32 30 35 30 30 31 30 31 30 30 30 30 30 30 5a" + "30 00" + baseKey,
 	},
 	{
-		api.Cert{Serial: raw("7f 00 00 00 00 00 00 00 00 00 00 00 00 00 00 00 00 00 00 01"), Subject: api.Name{{Type: 6, Value: "DE"}, {Type: 3, Value: "\u00e9"}}, From: api.MinTime, To: api.MaxTime, Key: flatPoint, Exts: []api.Ext{{Id: 0}, {Id: 127, Value: []byte("x")}}},
+		api.Cert{Serial: raw("7f 00 00 00 00 00 00 00 00 00 00 00 00 00 00 00 00 00 00 01"), Subject: api.Name{{Type: 6, Value: "DE"}, {Type: 3, Value: "\u00e9"}}, From: api.MinTime, To: api.MaxTime, Key: probe.FlatPoint(), Exts: []api.Ext{{Id: 0}, {Id: 127, Value: []byte("x")}}},
 		"30 81 d9 a0 03 02 01 02 02 14 7f 00 00 00 00 00 00 00 00 00 00 00 00 00 00 00 00 00 00 01" + ecdsaWithSHA256 + "30 00" +
 			"30 20 17 0d 35 30 30 31 30 31 30 30 30 30 30 30 5a 18 0f 39 39 39 39 31 32 33 31 32 33 35 39 35 39 5a" +
 			"30 1a 31 0b 30 09 06 03 55 04 06 13 02 44 45 31 0b 30 09 06 03 55 04 03 0c 02 c3 a9" +
@@ -58,7 +58,7 @@ func refuses(t *testing.T, c api.Cert) {
 	if got, e := cert.Body(c); e != api.ErrCert || len(got) > 0 {
 		t.Fatalf("Body(%.600s): %.600x, error %d", show(c), got, e)
 	}
-	if got, e := cert.Sign(c, small(5)); e != api.ErrCert || len(got) > 0 {
+	if got, e := cert.Sign(c, probe.Small(5)); e != api.ErrCert || len(got) > 0 {
 		t.Fatalf("Sign(%.600s): %.600x, error %d", show(c), got, e)
 	}
 }
@@ -75,7 +75,7 @@ func TestBodies(t *testing.T) {
 	for _, c := range goods() {
 		has(t, c, bodyBytes(c))
 	}
-	c := but(func(c *api.Cert) { c.Exts = longLists() })
+	c := but(func(c *api.Cert) { c.Exts = probe.LongExts() })
 	has(t, c, bodyBytes(c))
 }
 
@@ -134,31 +134,31 @@ func TestToBodyParts(t *testing.T) {
 		if missing := of(slices.Delete(parted(), i, i+1)); i == atExts {
 			has(t, but(func(c *api.Cert) { c.Exts = nil }), missing)
 		} else {
-			r.none(t, "a part missing", missing)
+			r.None(t, "a part missing", missing)
 		}
-		r.none(t, "a part twice", of(slices.Insert(parted(), i, part)))
-		r.none(t, "a part once more at the end", of(append(parted(), part)))
-		r.none(t, "a part with something behind", with(i, part+"05 00"))
-		if got := r.asLibrary(t, with(i, part[:2]+" 00")); got != (i == atIssuer || i == atSubject) { // a name may be of no attributes
+		r.None(t, "a part twice", of(slices.Insert(parted(), i, part)))
+		r.None(t, "a part once more at the end", of(append(parted(), part)))
+		r.None(t, "a part with something behind", with(i, part+"05 00"))
+		if got := r.AsShould(t, with(i, part[:2]+" 00")); got != (i == atIssuer || i == atSubject) { // a name may be of no attributes
 			t.Errorf("the part %d without what is in it: %t", i, got)
 		}
 		for j := range i {
 			l := parted()
 			l[i], l[j] = l[j], l[i]
-			if got := r.asLibrary(t, of(l)); got != (i == atSubject && j == atIssuer) {
+			if got := r.AsShould(t, of(l)); got != (i == atSubject && j == atIssuer) {
 				t.Errorf("the parts %d and %d changed over: %t", i, j, got)
 			}
 		}
 	}
-	r.none(t, "no part", of(nil))
+	r.None(t, "no part", of(nil))
 	for n := range parted() {
 		if n < atExts {
-			r.none(t, "parts missing at the end", of(parted()[:n]))
+			r.None(t, "parts missing at the end", of(parted()[:n]))
 		}
 	}
-	r.none(t, "within another one", probe.Put(0x30, of(parted())))
+	r.None(t, "within another one", probe.Put(0x30, of(parted())))
 	for _, tag := range []byte{0x31, 0x10, 0x04, 0xa0, 0xb0, 0x70} {
-		r.none(t, "another tag", probe.Put(tag, raw(strings.Join(parted(), " "))))
+		r.None(t, "another tag", probe.Put(tag, raw(strings.Join(parted(), " "))))
 	}
 }
 
@@ -170,12 +170,12 @@ func TestToBodyVersion(t *testing.T) {
 		digits[4] = byte(n)
 		l := parted()
 		b := probe.Put(0x30, digits, raw(strings.Join(l[1:], " ")))
-		if got := r.asLibrary(t, b); got != (n == 2) {
+		if got := r.AsShould(t, b); got != (n == 2) {
 			t.Errorf("the version %d: %t", n, got)
 		}
 	}
 	for _, version := range []string{"", "02 01 02", "a0 00", "a0 02 02 00", "a0 04 02 02 00 02", "a0 06 02 01 02 02 01 02", "a0 03 0a 01 02", "80 01 02", "a0 81 03 02 01 02", "a0 04 02 81 01 02", "a1 03 02 01 02", "a0 05 30 03 02 01 02", "30 03 02 01 02", "a0 04 02 02 01 02"} {
-		r.none(t, "another version", with(atVersion, version))
+		r.None(t, "another version", with(atVersion, version))
 	}
 }
 
@@ -188,19 +188,19 @@ func TestToBodySerial(t *testing.T) {
 			content = slices.Concat([]byte{0}, s)
 		}
 		has(t, but(func(c *api.Cert) { c.Serial = s }), with(atSerial, hex.EncodeToString(probe.Put(2, content))))
-		r.none(t, "a byte 0 that need not stand ahead", with(atSerial, hex.EncodeToString(probe.Put(2, []byte{0}, content))))
+		r.None(t, "a byte 0 that need not stand ahead", with(atSerial, hex.EncodeToString(probe.Put(2, []byte{0}, content))))
 		if s[0] >= 128 {
-			r.none(t, "a number below 0", with(atSerial, hex.EncodeToString(probe.Put(2, s))))
+			r.None(t, "a number below 0", with(atSerial, hex.EncodeToString(probe.Put(2, s))))
 		}
 		for _, tag := range []byte{0x0a, 0x04, 0x22, 0x82} {
-			r.none(t, "another tag", with(atSerial, hex.EncodeToString(probe.Put(tag, content))))
+			r.None(t, "another tag", with(atSerial, hex.EncodeToString(probe.Put(tag, content))))
 		}
 	}
 	for _, s := range []string{
 		"02 00", "02 01 00", "02 02 00 00", "02 02 00 05", "02 02 00 7f", "02 01 80", "02 01 ff", "02 02 ff 7f", "02 02 ff 80", "02 81 01 05", "02 82 00 01 05",
 		"02 14 80" + strings.Repeat("00", 19), "02 14 ff 7f" + strings.Repeat("00", 18), "02 15 00 80" + strings.Repeat("00", 19), "02 15 00 ff" + strings.Repeat("ff", 19), "02 15 01" + strings.Repeat("00", 20), "02 15 7f" + strings.Repeat("ff", 20), "02 21 01" + strings.Repeat("00", 32), "02 81 80 01" + strings.Repeat("00", 127),
 	} {
-		r.none(t, "no serial number", with(atSerial, s))
+		r.None(t, "no serial number", with(atSerial, s))
 	}
 }
 
@@ -215,18 +215,18 @@ var otherAlgorithms = []string{
 func TestToBodyAlgorithm(t *testing.T) {
 	r := bodyReader()
 	for _, digits := range otherAlgorithms {
-		r.none(t, "another algorithm", with(atAlgorithm, digits))
+		r.None(t, "another algorithm", with(atAlgorithm, digits))
 	}
 }
 
 // P16.2: names, by their bytes.
 func TestToBodyNames(t *testing.T) {
 	r := bodyReader()
-	for _, n := range names() {
+	for _, n := range probe.Names() {
 		has(t, but(func(c *api.Cert) { c.Issuer = n }), with(atIssuer, hex.EncodeToString(nameBytes(n))))
 		has(t, but(func(c *api.Cert) { c.Subject = n }), with(atSubject, hex.EncodeToString(nameBytes(n))))
 	}
-	attribute := nameBytes(named("a"))[2:]
+	attribute := nameBytes(probe.Named("a"))[2:]
 	for what, b := range map[string][]byte{
 		"no element":          nil,
 		"another tag":         {0x31, 0},
@@ -238,11 +238,11 @@ func TestToBodyNames(t *testing.T) {
 		"another type":        raw("30 0c 31 0a 30 08 06 03 55 04 04 13 01 61"),
 		"another text's kind": raw("30 0c 31 0a 30 08 06 03 55 04 03 0c 01 61"),
 		"an empty text":       raw("30 0b 31 09 30 07 06 03 55 04 03 13 00"),
-		"within another one":  probe.Put(0x30, nameBytes(named("a"))),
+		"within another one":  probe.Put(0x30, nameBytes(probe.Named("a"))),
 		"a longer length":     raw("30 81 0c 31 0a 30 08 06 03 55 04 03 13 01 61"),
 	} {
-		r.none(t, "an issuer: "+what, with(atIssuer, hex.EncodeToString(b)))
-		r.none(t, "a subject: "+what, with(atSubject, hex.EncodeToString(b)))
+		r.None(t, "an issuer: "+what, with(atIssuer, hex.EncodeToString(b)))
+		r.None(t, "a subject: "+what, with(atSubject, hex.EncodeToString(b)))
 	}
 }
 
@@ -262,7 +262,7 @@ func TestToBodyTimes(t *testing.T) {
 		}
 		has(t, but(func(c *api.Cert) { c.From, c.To = s[0], s[1] }), with(atTimes, times(byte(tag1), string(from), byte(tag2), string(to))))
 		if s[0] != s[1] {
-			r.none(t, "To below From", with(atTimes, times(byte(tag2), string(to), byte(tag1), string(from))))
+			r.None(t, "To below From", with(atTimes, times(byte(tag2), string(to), byte(tag1), string(from))))
 		}
 	}
 }
@@ -299,21 +299,21 @@ func TestToBodyNoTimes(t *testing.T) {
 		"To below From, by forms": times(0x18, future, 0x17, "491231235959Z"),
 		"a time in a time":        times(0x17, "\x17\x0d"+early, 0x17, late),
 	} {
-		r.none(t, what, with(atTimes, digits))
+		r.None(t, what, with(atTimes, digits))
 	}
 }
 
 // P16.2: a key that is none.
 func TestToBodyKey(t *testing.T) {
-	for _, p := range points() {
+	for _, p := range probe.Points() {
 		has(t, but(func(c *api.Cert) { c.Key = p }), with(atKey, hex.EncodeToString(keyBytes(p))))
 	}
 	r := bodyReader()
-	for _, p := range noPoints() {
+	for _, p := range probe.NoPoints() {
 		if p.Inf { // of which the bytes say nothing
 			continue
 		}
-		r.none(t, "no point", with(atKey, hex.EncodeToString(libraryBytes(formOf(p)))))
+		r.None(t, "no point", with(atKey, hex.EncodeToString(libraryBytes(formOf(p)))))
 	}
 	bits := strings.Replace(baseKey, "30 59 30 13 06 07 2a 86 48 ce 3d 02 01 06 08 2a 86 48 ce 3d 03 01 07", "", 1)
 	for what, part := range map[string]string{
@@ -331,17 +331,17 @@ func TestToBodyKey(t *testing.T) {
 		if part == baseKey {
 			t.Fatalf("%s: nothing is changed", what)
 		}
-		r.none(t, "a key: "+what, with(atKey, part))
+		r.None(t, "a key: "+what, with(atKey, part))
 	}
 }
 
 // P16.2: extensions, by their bytes; an empty list that is written, other elements that X.509 would have there.
 func TestToBodyExts(t *testing.T) {
-	for _, l := range lists() {
+	for _, l := range probe.ExtLists() {
 		c := but(func(c *api.Cert) { c.Exts = l })
 		part := ""
 		if len(l) > 0 {
-			part = hex.EncodeToString(probe.Put(0xa3, extsBytes(l)))
+			part = hex.EncodeToString(probe.Put(0xa3, probe.ExtsBytes(l)))
 		}
 		has(t, c, with(atExts, part))
 	}
@@ -365,9 +365,9 @@ func TestToBodyExts(t *testing.T) {
 		"a key's name alone":       "82 02 00 01",
 		"a longer length":          "a3 81 10 30 0e" + one,
 		"something behind":         "a3 12 30 0e" + one + "05 00",
-		"17 of them":               hex.EncodeToString(probe.Put(0xa3, extsBytes(probe.ExtRow(17)))),
+		"17 of them":               hex.EncodeToString(probe.Put(0xa3, probe.ExtsBytes(probe.ExtRow(17)))),
 		"a Value that is too long": hex.EncodeToString(probe.Put(0xa3, probe.Put(0x30, probe.Put(0x30, raw("06 03 55 1d 13"), probe.Put(4, make([]byte, 65537)))))),
 	} {
-		r.none(t, what, with(atExts, digits))
+		r.None(t, what, with(atExts, digits))
 	}
 }

@@ -30,7 +30,7 @@ func TestThereAndBack(t *testing.T) {
 			t.Fatalf("%.600s, joined as %.600x, is split into %.600s, error %d", show(c), b, show(got), e)
 		}
 	}
-	for _, p := range points() {
+	for _, p := range probe.Points() {
 		b, e1 := cert.Key(p)
 		got, e2 := cert.ToKey(b)
 		again, e3 := cert.Key(got)
@@ -43,7 +43,7 @@ func TestThereAndBack(t *testing.T) {
 // P16.6: what Sign tells is Signed with the key's point, and is the certificate, of each call on what another one has made.
 func TestSignedIsSigned(t *testing.T) {
 	for i, c := range few() {
-		d := keys()[i%len(keys())]
+		d := probe.Keys()[i%len(probe.Keys())]
 		q := public(t, d)
 		if i%2 == 0 {
 			c.Key = q
@@ -67,7 +67,7 @@ func TestSignedIsSigned(t *testing.T) {
 func TestChain(t *testing.T) {
 	var above api.Point
 	var ahead api.Digest
-	for i, d := range keys() {
+	for i, d := range probe.Keys() {
 		q := public(t, d)
 		c := but(func(c *api.Cert) { c.Key = q })
 		if i == 0 {
@@ -85,7 +85,7 @@ func TestChain(t *testing.T) {
 // drawn is a certificate that looks like chance.
 func drawn(draws *probe.Draws) api.Cert {
 	pick := func(n int) int { return int(draws.Next() % uint64(n)) }
-	c := api.Cert{Issuer: names()[pick(len(names()))], Subject: names()[pick(len(names()))], Key: points()[pick(len(points()))]}
+	c := api.Cert{Issuer: probe.Names()[pick(len(probe.Names()))], Subject: probe.Names()[pick(len(probe.Names()))], Key: probe.Points()[pick(len(probe.Points()))]}
 	c.Serial = draws.Bytes(1 + pick(20))
 	c.Serial[0] = c.Serial[0]&0x7f | 1
 	c.From = api.MinTime + pick(api.MaxTime-api.MinTime)
@@ -108,12 +108,12 @@ func TestThereAndBackDrawn(t *testing.T) {
 		b := joinedOf(t, couple{body, signatures()[i%len(signatures())]})
 		for range 15 {
 			near := []byte(draws.Changed(string(body), alphabet))
-			if bodies.asLibrary(t, near) {
+			if bodies.AsShould(t, near) {
 				if got, _ := cert.ToBody(near); !bytes.Equal(written(t, got), near) {
 					t.Fatalf("%.600x is written as %.600x", near, written(t, got))
 				}
 			}
-			whole.asLibrary(t, []byte(draws.Changed(string(b), alphabet)))
+			whole.AsShould(t, []byte(draws.Changed(string(b), alphabet)))
 		}
 	}
 }

@@ -21,46 +21,22 @@ import (
 
 // The curve's numbers.
 var (
-	prime = hexed("ffffffff 00000001 00000000 00000000 00000000 ffffffff ffffffff ffffffff")
-	order = hexed("ffffffff 00000000 ffffffff ffffffff bce6faad a7179e84 f3b9cac2 fc632551")
-	base  = api.Point{
-		X: hexed("6b17d1f2 e12c4247 f8bce6e5 63a440f2 77037d81 2deb33a0 f4a13945 d898c296"),
-		Y: hexed("4fe342e2 fe1a7f9b 8ee7eb4a 7c0f9e16 2bce3357 6b315ece cbb64068 37bf51f5"),
-	}
-	far     = api.Point{Inf: true}
-	allOnes = api.Digest(slices.Repeat([]byte{255}, 32))
+	prime   = probe.Prime()
+	order   = probe.Order()
+	base    = probe.Base()
+	allOnes = probe.Plus(api.Digest{}, -1)
 )
 
 // raw are bytes by digits.
 func raw(digits string) []byte { return probe.Raw(digits) }
 
-// hexed is the number that digits to the base 16 say.
-func hexed(digits string) api.Digest { return api.Digest(raw(digits)) }
-
 func value(d api.Digest) *big.Int { return new(big.Int).SetBytes(d[:]) }
-
-// plus is a number, and so much more or less.
-func plus(d api.Digest, more int64) api.Digest {
-	var sum api.Digest
-	x := value(d)
-	x.Add(x, big.NewInt(more)).FillBytes(sum[:])
-	return sum
-}
-
-// small is a number that an int says.
-func small(n int64) api.Digest { return plus(api.Digest{}, n) }
 
 // less is n less a number.
 func less(d api.Digest) api.Digest {
 	var rest api.Digest
 	new(big.Int).Sub(value(order), value(d)).FillBytes(rest[:])
 	return rest
-}
-
-// turned is a number with one bit another one.
-func turned(d api.Digest, bit int) api.Digest {
-	d[bit/8] ^= 1 << (bit % 8)
-	return d
 }
 
 // libraryKey is a key of the library.
@@ -195,92 +171,44 @@ func parseCert(b []byte) (api.Cert, bool) {
 	return parseBody(c.body)
 }
 
-// reader is a call that reads: what it should answer by the chapter's words and the library, and bytes of each sort that it should take.
-type reader[T any] struct {
-	what     string
-	read     func([]byte) (T, api.Errno)
-	parse    func([]byte) (T, bool)
-	same     func(a, b T) bool
-	scribble func(T) // writes over all of its lists, and the spare room behind them
-	samples  [][]byte
-}
-
-// none fails unless bytes are nothing's, and nothing stands beside the error.
-func (r reader[T]) none(t *testing.T, what string, b []byte) {
-	t.Helper()
-	var nothing T
-	if got, e := r.read(b); e != api.ErrCert || !r.same(got, nothing) {
-		t.Errorf("%s, %s: %.600x is read as %.600s, error %d", r.what, what, b, show(got), e)
-	}
-}
-
-// asLibrary fails unless bytes are read as they should be; it tells whether they are taken.
-func (r reader[T]) asLibrary(t *testing.T, b []byte) bool {
-	t.Helper()
-	want, ok := r.parse(b)
-	wrong := api.OK
-	if !ok {
-		var nothing T
-		want, wrong = nothing, api.ErrCert
-	}
-	if got, e := r.read(b); e != wrong || !r.same(got, want) {
-		t.Fatalf("%s: %.800x is read as %.600s, error %d; want %.600s, error %d", r.what, b, show(got), e, show(want), wrong)
-	}
-	return ok
-}
-
-func (r reader[T]) name() string     { return r.what }
-func (r reader[T]) some() [][]byte   { return r.samples }
-func (r reader[T]) is(b []byte) bool { _, ok := r.parse(b); return ok }
-
-// face is a call that reads, whatever it answers.
-type face interface {
-	name() string
-	some() [][]byte
-	is(b []byte) bool
-	asLibrary(t *testing.T, b []byte) bool
-	none(t *testing.T, what string, b []byte)
-	ownOf(t *testing.T) // that answers are memory of their own
-}
-
 // faces are all calls that read.
-func faces(t *testing.T) []face {
-	return []face{keyReader(), bodyReader(), joinedReader(), certReader(t)}
+func faces(t *testing.T) []probe.Face {
+	return []probe.Face{keyReader(), bodyReader(), joinedReader(), certReader(t)}
 }
 
-func keyReader() reader[api.Point] {
-	r := reader[api.Point]{what: "ToKey", read: cert.ToKey, parse: parseKey, same: func(a, b api.Point) bool { return a == b }, scribble: func(api.Point) {}}
-	for _, p := range points() {
-		r.samples = append(r.samples, keyBytes(p))
+func keyReader() probe.Reader[api.Point] {
+	r := probe.Reader[api.Point]{What: "ToKey", Wrong: api.ErrCert, Read: cert.ToKey, Parse: parseKey, Same: func(a, b api.Point) bool { return a == b }, Scribble: func(api.Point) {}}
+	for _, p := range probe.Points() {
+		r.Samples = append(r.Samples, keyBytes(p))
 	}
 	return r
 }
 
-func bodyReader() reader[api.Cert] {
-	r := reader[api.Cert]{what: "ToBody", read: cert.ToBody, parse: parseBody, same: sameCert, scribble: scribble}
+func bodyReader() probe.Reader[api.Cert] {
+	r := probe.Reader[api.Cert]{What: "ToBody", Wrong: api.ErrCert, Read: cert.ToBody, Parse: parseBody, Same: sameCert, Scribble: scribble}
 	for _, c := range goods() {
-		r.samples = append(r.samples, bodyBytes(c))
+		r.Samples = append(r.Samples, bodyBytes(c))
 	}
 	return r
 }
 
-func joinedReader() reader[couple] {
-	r := reader[couple]{what: "Split", read: split, parse: parseJoined, same: sameCouple, scribble: func(c couple) { probe.Scribble(c.body, 0x77) }}
+func joinedReader() probe.Reader[couple] {
+	r := probe.Reader[couple]{What: "Split", Wrong: api.ErrCert, Read: split, Parse: parseJoined, Same: sameCouple, Scribble: func(c couple) { probe.Scribble(c.body, 0x77) }}
 	for _, c := range couples() {
-		r.samples = append(r.samples, joinedBytes(c))
+		r.Samples = append(r.Samples, joinedBytes(c))
 	}
 	return r
 }
 
-func certReader(t *testing.T) reader[api.Cert] {
+func certReader(t *testing.T) probe.Reader[api.Cert] {
 	t.Helper()
-	r := reader[api.Cert]{what: "Decode", read: cert.Decode, parse: parseCert, same: sameCert, scribble: scribble}
+	r := probe.Reader[api.Cert]{What: "Decode", Wrong: api.ErrCert, Read: cert.Decode, Parse: parseCert, Same: sameCert, Scribble: scribble}
 	for i, c := range goods() {
 		s := signatures()[i%len(signatures())]
 		if i%4 == 0 {
-			s = librarySignature(t, small(5), bodyBytes(c))
+			s = librarySignature(t, probe.Small(5), bodyBytes(c))
 		}
-		r.samples = append(r.samples, joinedBytes(couple{bodyBytes(c), s}))
+		r.Samples = append(r.Samples, joinedBytes(couple{bodyBytes(c), s}))
 	}
 	return r
 }

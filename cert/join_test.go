@@ -32,11 +32,11 @@ func notJoined(t *testing.T, body []byte, s api.Signature, want api.Errno) {
 
 // P16.3: what is joined, written out.
 func TestKnownJoins(t *testing.T) {
-	s := api.Signature{R: small(1), S: small(128)}
+	s := api.Signature{R: probe.Small(1), S: probe.Small(128)}
 	joins(t, couple{raw("05 00"), s}, raw("30 1a 05 00"+ecdsaWithSHA256+"03 0a 00 30 07 02 01 01 02 02 00 80"))
 	joins(t, couple{raw("30 03 02 01 05"), s}, raw("30 1d 30 03 02 01 05"+ecdsaWithSHA256+"03 0a 00 30 07 02 01 01 02 02 00 80"))
 	joins(t, couple{raw("04 01 ff"), api.Signature{}}, raw("30 1a 04 01 ff"+ecdsaWithSHA256+"03 09 00 30 06 02 01 00 02 01 00"))
-	joins(t, couple{raw("05 00"), api.Signature{R: allOnes, S: small(127)}}, raw("30 39 05 00"+ecdsaWithSHA256+"03 29 00 30 26 02 21 00"+strings.Repeat("ff", 32)+"02 01 7f"))
+	joins(t, couple{raw("05 00"), api.Signature{R: allOnes, S: probe.Small(127)}}, raw("30 39 05 00"+ecdsaWithSHA256+"03 29 00 30 26 02 21 00"+strings.Repeat("ff", 32)+"02 01 7f"))
 }
 
 // P16.3: bodies and signatures of each sort; contents whose lengths take one, two and three bytes to say, and four.
@@ -56,7 +56,7 @@ func TestJoins(t *testing.T) {
 func TestJoinLengths(t *testing.T) {
 	for _, span := range [][2]int{{0, 300}, {65450, 65560}} {
 		for n := span[0]; n <= span[1]; n++ {
-			c := couple{probe.Put(0x30, bytes.Repeat([]byte{7}, n)), api.Signature{R: small(1), S: small(1)}}
+			c := couple{probe.Put(0x30, bytes.Repeat([]byte{7}, n)), api.Signature{R: probe.Small(1), S: probe.Small(1)}}
 			joins(t, c, joinedBytes(c))
 		}
 	}
@@ -68,7 +68,7 @@ func TestJoinNoElement(t *testing.T) {
 	for _, b := range noElements() {
 		for _, s := range signatures() {
 			notJoined(t, b, s, api.ErrCert)
-			r.none(t, "of no element", joinedBytes(couple{b, s}))
+			r.None(t, "of no element", joinedBytes(couple{b, s}))
 		}
 	}
 	for _, b := range [][]byte{bodyBytes(plain()), probe.Put(4, make([]byte, 300))} {
@@ -89,7 +89,7 @@ func TestJoinTags(t *testing.T) {
 		c := couple{[]byte{byte(tag), 1, 0xff}, api.Signature{R: base.X, S: base.Y}}
 		if tag&31 == 31 {
 			notJoined(t, c.body, c.signature, api.ErrCert)
-			r.none(t, "no tag", joinedBytes(c))
+			r.None(t, "no tag", joinedBytes(c))
 			continue
 		}
 		joins(t, c, joinedBytes(c))
@@ -123,26 +123,26 @@ func TestSplitParts(t *testing.T) {
 	r := joinedReader()
 	for _, body := range []string{"05 00", ecdsaWithSHA256, "30 00"} {
 		parts := []string{body, ecdsaWithSHA256, "03 0a 00 30 07 02 01 01 02 02 00 80"}
-		joins(t, couple{raw(body), api.Signature{R: small(1), S: small(128)}}, of(parts))
+		joins(t, couple{raw(body), api.Signature{R: probe.Small(1), S: probe.Small(128)}}, of(parts))
 		for i, part := range parts {
-			r.none(t, "a part missing", of(slices.Delete(slices.Clone(parts), i, i+1)))
-			r.none(t, "a part twice", of(slices.Insert(slices.Clone(parts), i, part)))
-			r.none(t, "a part once more at the end", of(append(slices.Clone(parts), part)))
-			r.none(t, "something ahead of a part", of(slices.Insert(slices.Clone(parts), i, "05 00")))
-			r.none(t, "parts missing at the end", of(parts[:i]))
+			r.None(t, "a part missing", of(slices.Delete(slices.Clone(parts), i, i+1)))
+			r.None(t, "a part twice", of(slices.Insert(slices.Clone(parts), i, part)))
+			r.None(t, "a part once more at the end", of(append(slices.Clone(parts), part)))
+			r.None(t, "something ahead of a part", of(slices.Insert(slices.Clone(parts), i, "05 00")))
+			r.None(t, "parts missing at the end", of(parts[:i]))
 			for j := range i {
 				l := slices.Clone(parts)
 				l[i], l[j] = l[j], l[i]
-				if got := r.asLibrary(t, of(l)); got != (l[1] == ecdsaWithSHA256 && l[2] == parts[2]) {
+				if got := r.AsShould(t, of(l)); got != (l[1] == ecdsaWithSHA256 && l[2] == parts[2]) {
 					t.Errorf("the parts %d and %d changed over: %t", i, j, got)
 				}
 			}
 		}
-		r.none(t, "something behind", of(append(slices.Clone(parts), "05 00")))
+		r.None(t, "something behind", of(append(slices.Clone(parts), "05 00")))
 		b := of(parts)
-		r.none(t, "within another one", probe.Put(0x30, b))
-		r.none(t, "another tag", slices.Concat([]byte{0x31}, b[1:]))
-		r.none(t, "the body alone", raw(body))
+		r.None(t, "within another one", probe.Put(0x30, b))
+		r.None(t, "another tag", slices.Concat([]byte{0x31}, b[1:]))
+		r.None(t, "the body alone", raw(body))
 	}
 }
 
@@ -150,8 +150,8 @@ func TestSplitParts(t *testing.T) {
 func TestSplitAlgorithm(t *testing.T) {
 	joins, certs := joinedReader(), certReader(t)
 	for _, other := range otherAlgorithms {
-		joins.none(t, "another algorithm", of([]string{"05 00", other, "03 0a 00 30 07 02 01 01 02 02 00 80"}))
-		certs.none(t, "another algorithm", of([]string{knownBodies[0].bytes, other, "03 0a 00 30 07 02 01 01 02 02 00 80"}))
+		joins.None(t, "another algorithm", of([]string{"05 00", other, "03 0a 00 30 07 02 01 01 02 02 00 80"}))
+		certs.None(t, "another algorithm", of([]string{knownBodies[0].bytes, other, "03 0a 00 30 07 02 01 01 02 02 00 80"}))
 	}
 }
 
@@ -191,7 +191,7 @@ func TestSplitBits(t *testing.T) {
 		"yet another one":              "03 0b 00 30 08 02 81 01 01 02 02 00 80",
 		"bits in a constructed string": "23 0c 03 0a 00 30 07 02 01 01 02 02 00 80",
 	} {
-		r.none(t, what, of([]string{"05 00", ecdsaWithSHA256, bits}))
+		r.None(t, what, of([]string{"05 00", ecdsaWithSHA256, bits}))
 	}
 }
 
@@ -199,13 +199,13 @@ func TestSplitBits(t *testing.T) {
 func TestSplitUnusedBits(t *testing.T) {
 	r := joinedReader()
 	for _, last := range []byte{0x80, 0x40, 0x10, 0x02} {
-		c := couple{raw("05 00"), api.Signature{R: small(1), S: small(int64(last))}}
+		c := couple{raw("05 00"), api.Signature{R: probe.Small(1), S: probe.Small(int(last))}}
 		b := joinedBytes(c)
 		joins(t, c, b)
 		at := bytes.LastIndex(b, []byte{0, 0x30})
 		for unused := byte(1); unused <= 8; unused++ {
 			b[at] = unused
-			r.none(t, "unused bits", b)
+			r.None(t, "unused bits", b)
 		}
 	}
 }

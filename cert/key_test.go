@@ -30,7 +30,7 @@ func TestKnownKey(t *testing.T) {
 
 // P16.1: keys of each sort, as the library writes and names them.
 func TestKeys(t *testing.T) {
-	for _, p := range points() {
+	for _, p := range probe.Points() {
 		b, e := cert.Key(p)
 		if e != api.OK || !bytes.Equal(b, keyBytes(p)) {
 			t.Errorf("Key(%s): %x, error %d", show(p), b, e)
@@ -55,7 +55,7 @@ func TestKnownId(t *testing.T) {
 
 // P16.1: what is no point of the curve, and the far one.
 func TestNoKeys(t *testing.T) {
-	for _, p := range noPoints() {
+	for _, p := range probe.NoPoints() {
 		if b, e := cert.Key(p); e != api.ErrPoint || len(b) > 0 {
 			t.Errorf("Key(%s): %x, error %d", show(p), b, e)
 		}
@@ -67,16 +67,16 @@ func TestNoKeys(t *testing.T) {
 
 // P16.1: what the library makes of keys' bytes, and they of its.
 func TestKeyByLibrary(t *testing.T) {
-	for n := int64(1); n < 20; n++ {
-		key := libraryKey(t, small(n))
+	for n := 1; n < 20; n++ {
+		key := libraryKey(t, probe.Small(n))
 		b, err := x509.MarshalPKIXPublicKey(key.Public())
 		if err != nil {
 			t.Fatal(err)
 		}
-		if p, e := cert.ToKey(b); e != api.OK || p != libraryPoint(t, small(n)) {
+		if p, e := cert.ToKey(b); e != api.OK || p != libraryPoint(t, probe.Small(n)) {
 			t.Errorf("ToKey(%x): %s, error %d", b, show(p), e)
 		}
-		own, e := cert.Key(public(t, small(n)))
+		own, e := cert.Key(public(t, probe.Small(n)))
 		if got, err := x509.ParsePKIXPublicKey(own); err != nil || e != api.OK || !key.PublicKey.Equal(got.(*ecdsa.PublicKey)) {
 			t.Errorf("%x: %v, error %d", own, err, e)
 		}
@@ -97,7 +97,7 @@ const (
 func TestToKeyOfNone(t *testing.T) {
 	k := keyReader()
 	content := baseKey[len("30 59 30 13 06 07 2a 86 48 ce 3d 02 01 06 08 2a 86 48 ce 3d 03 01 07 03 42 "):]
-	if !k.asLibrary(t, keyOf(ecKey+onP256, content)) {
+	if !k.AsShould(t, keyOf(ecKey+onP256, content)) {
 		t.Fatal("the key is not taken")
 	}
 	for what, parts := range map[string]string{
@@ -118,7 +118,7 @@ func TestToKeyOfNone(t *testing.T) {
 		"an arc fewer":           ecKey + "06 07 2a 86 48 ce 3d 03 01",
 		"an arc too long":        ecKey + "06 09 2a 86 48 ce 3d 03 01 80 07",
 	} {
-		k.none(t, what, keyOf(parts, content))
+		k.None(t, what, keyOf(parts, content))
 	}
 	for what, bits := range map[string]string{
 		"no content":                   "",
@@ -139,26 +139,26 @@ func TestToKeyOfNone(t *testing.T) {
 		"compressed":                   "00 03 6b17d1f2 e12c4247 f8bce6e5 63a440f2 77037d81 2deb33a0 f4a13945 d898c296",
 		"compressed, with an even one": "00 02 6b17d1f2 e12c4247 f8bce6e5 63a440f2 77037d81 2deb33a0 f4a13945 d898c296",
 	} {
-		k.none(t, what, keyOf(ecKey+onP256, bits))
+		k.None(t, what, keyOf(ecKey+onP256, bits))
 	}
-	for _, p := range noPoints() {
+	for _, p := range probe.NoPoints() {
 		if p.Inf { // of which the bytes say nothing
 			continue
 		}
-		k.none(t, "no point", libraryBytes(formOf(p)))
+		k.None(t, "no point", libraryBytes(formOf(p)))
 	}
 }
 
 // P16.1: points whose last bits are 0, of which some are said to be unused.
 func TestToKeyUnusedBits(t *testing.T) {
 	count, k := 0, keyReader()
-	for n := int64(1); n < 300; n++ {
-		p := multiple(n)
+	for n := 1; n < 300; n++ {
+		p := libraryPoint(t, probe.Small(n))
 		for unused := byte(1); unused <= 7 && p.Y[31]<<(8-unused) == 0; unused++ {
 			count++
 			b := bytes.Clone(keyBytes(p))
 			b[25] = unused
-			k.none(t, "unused bits that are 0", b)
+			k.None(t, "unused bits that are 0", b)
 		}
 	}
 	if count < 100 {
@@ -170,12 +170,12 @@ func TestToKeyUnusedBits(t *testing.T) {
 func TestToKeyParts(t *testing.T) {
 	k := keyReader()
 	b := raw(baseKey)
-	k.none(t, "without the algorithm", probe.Put(0x30, b[23:]))
-	k.none(t, "without the bits", probe.Put(0x30, b[2:23]))
-	k.none(t, "the bits ahead", probe.Put(0x30, b[23:], b[2:23]))
-	k.none(t, "the bits twice", probe.Put(0x30, b[2:], b[23:]))
-	k.none(t, "the algorithm twice", probe.Put(0x30, b[2:23], b[2:]))
-	k.none(t, "something behind", probe.Put(0x30, b[2:], raw("05 00")))
-	k.none(t, "within another one", probe.Put(0x30, b))
-	k.none(t, "another tag", slices.Concat([]byte{0x31}, b[1:]))
+	k.None(t, "without the algorithm", probe.Put(0x30, b[23:]))
+	k.None(t, "without the bits", probe.Put(0x30, b[2:23]))
+	k.None(t, "the bits ahead", probe.Put(0x30, b[23:], b[2:23]))
+	k.None(t, "the bits twice", probe.Put(0x30, b[2:], b[23:]))
+	k.None(t, "the algorithm twice", probe.Put(0x30, b[2:23], b[2:]))
+	k.None(t, "something behind", probe.Put(0x30, b[2:], raw("05 00")))
+	k.None(t, "within another one", probe.Put(0x30, b))
+	k.None(t, "another tag", slices.Concat([]byte{0x31}, b[1:]))
 }

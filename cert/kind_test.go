@@ -8,7 +8,6 @@ import (
 	"math"
 	"math/big"
 	"slices"
-	"strings"
 	"time"
 
 	"chancery/api"
@@ -124,51 +123,6 @@ func sameCert(a, b api.Cert) bool {
 		slices.Equal(a.Subject, b.Subject) && a.Key == b.Key && probe.SameExts(a.Exts, b.Exts)
 }
 
-// zeroPoint has the X 0, and flatPoint the Y 1: both have another writing of 32 bytes, p more.
-var (
-	zeroPoint = api.Point{Y: hexed("66485c78 0e2f83d7 2433bd5d 84a06bb6 541c2af3 1dae8717 28bf856a 174f93f4")}
-	flatPoint = api.Point{X: hexed("09e78d4e f60d05f7 50f66362 09092bc4 3cbdd6b4 7e11a9de 20a9feb2 a50bb96c"), Y: small(1)}
-)
-
-// across is the point with the same X.
-func across(p api.Point) api.Point {
-	new(big.Int).Sub(value(prime), value(p.Y)).FillBytes(p.Y[:])
-	return p
-}
-
-// multiple is so many times the base.
-func multiple(n int64) api.Point {
-	d := small(n)
-	x, y := elliptic.P256().ScalarBaseMult(d[:])
-	var p api.Point
-	x.FillBytes(p.X[:])
-	y.FillBytes(p.Y[:])
-	return p
-}
-
-// points are those of each sort that may be a key.
-func points() []api.Point {
-	l := []api.Point{base, across(base), zeroPoint, across(zeroPoint), flatPoint, across(flatPoint)}
-	for n := int64(2); n <= 8; n++ {
-		l = append(l, multiple(n), across(multiple(n)))
-	}
-	return append(l, multiple(1<<40+7), multiple(math.MaxInt64))
-}
-
-// noPoints are points of each sort that may not.
-func noPoints() []api.Point {
-	l := []api.Point{
-		far, {}, {X: base.X}, {Y: base.Y}, {X: base.Y, Y: base.X}, {X: base.X, Y: multiple(2).Y}, {X: small(1), Y: small(1)},
-		{X: base.X, Y: base.Y, Inf: true}, {X: zeroPoint.X, Y: zeroPoint.Y, Inf: true}, {X: small(1), Inf: true}, {Y: small(1), Inf: true},
-		{X: prime, Y: zeroPoint.Y}, {X: prime, Y: across(zeroPoint).Y}, {X: flatPoint.X, Y: plus(prime, 1)}, {X: prime, Y: prime}, {X: prime, Y: prime, Inf: true},
-		{X: prime, Y: base.Y}, {X: base.X, Y: prime}, {X: allOnes, Y: base.Y}, {X: base.X, Y: allOnes}, {X: allOnes, Y: allOnes}, {X: order, Y: base.Y},
-	}
-	for _, bit := range []int{0, 7, 128, 248, 255} {
-		l = append(l, api.Point{X: turned(base.X, bit), Y: base.Y}, api.Point{X: base.X, Y: turned(base.Y, bit)})
-	}
-	return l
-}
-
 // serials are those of each sort that may be.
 func serials() [][]byte {
 	var l [][]byte
@@ -202,38 +156,6 @@ func noSerials() [][]byte {
 	return l
 }
 
-// named is a name with one attribute.
-func named(s string) api.Name { return api.Name{{Type: 3, Value: s}} }
-
-// attrs is a name with n attributes.
-func attrs(n int) api.Name {
-	l := api.Name{}
-	for i := range n {
-		l = append(l, api.Attr{Type: []int{3, 7, 8, 10, 11}[i%5], Value: strings.Repeat("v", i%64+1)})
-	}
-	return l
-}
-
-// names are those of each sort that may be.
-func names() []api.Name {
-	l := []api.Name{
-		nil, {}, named("a"), named("\u00e9"), named("a@b"), named(strings.Repeat("x", 64)),
-		{{Type: 6, Value: "DE"}, {Type: 10, Value: "a, b"}}, {{Type: 5, Value: "1"}, {Type: 5, Value: "1"}}, slices.Repeat(named(strings.Repeat("_", 64)), 16),
-	}
-	for n := 1; n <= 16; n++ {
-		l = append(l, attrs(n))
-	}
-	return l
-}
-
-// noNames are those of each sort that may not.
-func noNames() []api.Name {
-	return []api.Name{
-		attrs(17), attrs(18), slices.Repeat(named("a"), 17), slices.Repeat(named("a"), 1<<16), {{}}, named(""), named(strings.Repeat("x", 65)), named("\xff"),
-		{{Type: 4, Value: "a"}}, {{Type: 6, Value: "de"}}, {{Type: 6, Value: "D"}}, {{Type: 5, Value: "a@b"}}, append(attrs(15), api.Attr{Type: 9, Value: "a"}), append(api.Name{{Type: 3}}, attrs(3)...),
-	}
-}
-
 // turn is the first moment of the year 2050, from which on a time has another form.
 const turn = 2524608000
 
@@ -263,39 +185,9 @@ func noSpans() [][2]int {
 	return append(l, [2]int{math.MinInt, math.MaxInt}, [2]int{math.MaxInt, math.MinInt}, [2]int{5, 4})
 }
 
-// lists are extensions of each sort that may be, and none.
-func lists() [][]api.Ext {
-	l := [][]api.Ext{nil, {}, {{Id: 19, Critical: true, Value: raw("30 00")}}, {{Id: 0}}, {{Id: 127, Critical: true}}, {{Id: 19, Critical: true, Value: raw("30 03 01 01 ff")}, {Id: 15, Critical: true, Value: raw("03 02 02 84")}}}
-	for n := 1; n <= 16; n++ {
-		l = append(l, probe.ExtRow(n))
-	}
-	// Values by which contents that stand around one another have lengths of one, two and three bytes.
-	for _, n := range []int{56, 100, 112, 114, 116, 120, 127, 128, 250, 256, 65000, 65300, 65520, 65536} {
-		l = append(l, []api.Ext{{Id: 1, Value: make([]byte, n)}})
-	}
-	return l
-}
-
-// longLists are the longest extensions that may be.
-func longLists() []api.Ext {
-	l := probe.ExtRow(16)
-	for i := range l {
-		l[i].Value = make([]byte, 65536)
-	}
-	return l
-}
-
-// noLists are extensions of each sort that may not.
-func noLists() [][]api.Ext {
-	return [][]api.Ext{
-		probe.ExtRow(17), probe.ExtRow(18), probe.ExtRow(128), make([]api.Ext, 1<<16), {{Id: -1}}, {{Id: 128}}, {{Id: 256 + 19}}, {{Id: 1<<32 + 19}}, {{Id: math.MinInt}}, {{Id: 19}, {Id: 19}},
-		append(probe.ExtRow(15), probe.ExtRow(1)...), append(probe.ExtRow(3), api.Ext{Id: 128}), {{Id: 19, Value: make([]byte, 65537)}}, append(longLists()[:15], api.Ext{Id: 127, Value: make([]byte, 65537)}),
-	}
-}
-
 // plain is a certificate as it may be.
 func plain() api.Cert {
-	return api.Cert{Serial: []byte{5}, Issuer: named("a"), To: 100, Subject: named("b"), Key: base, Exts: []api.Ext{{Id: 19, Critical: true, Value: raw("30 00")}}}
+	return api.Cert{Serial: []byte{5}, Issuer: probe.Named("a"), To: 100, Subject: probe.Named("b"), Key: base, Exts: []api.Ext{{Id: 19, Critical: true, Value: raw("30 00")}}}
 }
 
 // but is a certificate as it may be, with something else.
@@ -328,18 +220,18 @@ func varied(serials [][]byte, names []api.Name, spans [][2]int, keys []api.Point
 
 // goods are certificates of each sort that may be.
 func goods() []api.Cert {
-	l := varied(serials(), names(), spans(), points(), lists())
-	return append(l, plain(), api.Cert{Serial: []byte{1}, Key: base}, api.Cert{Serial: serials()[38], Issuer: attrs(16), From: api.MinTime, To: api.MaxTime, Subject: attrs(16), Key: zeroPoint, Exts: probe.ExtRow(16)})
+	l := varied(serials(), probe.Names(), spans(), probe.Points(), probe.ExtLists())
+	return append(l, plain(), api.Cert{Serial: []byte{1}, Key: base}, api.Cert{Serial: serials()[38], Issuer: probe.Attrs(16), From: api.MinTime, To: api.MaxTime, Subject: probe.Attrs(16), Key: probe.ZeroPoint(), Exts: probe.ExtRow(16)})
 }
 
 // wrongs are certificates of each sort that may not.
 func wrongs() []api.Cert {
-	return append(varied(noSerials(), noNames(), noSpans(), noPoints(), noLists()), api.Cert{}, api.Cert{Key: base}, api.Cert{Serial: []byte{5}})
+	return append(varied(noSerials(), probe.NoNames(), noSpans(), probe.NoPoints(), probe.NoExtLists()), api.Cert{}, api.Cert{Key: base}, api.Cert{Serial: []byte{5}})
 }
 
 // signatures are those of each sort; they need not be anybody's.
 func signatures() []api.Signature {
-	return []api.Signature{{}, {R: small(1), S: small(128)}, {R: order, S: allOnes}, {R: allOnes, S: api.Digest{}}, {R: api.Digest{0x7f}, S: api.Digest{0x80}}, {R: base.X, S: base.Y}}
+	return []api.Signature{{}, {R: probe.Small(1), S: probe.Small(128)}, {R: order, S: allOnes}, {R: allOnes, S: api.Digest{}}, {R: api.Digest{0x7f}, S: api.Digest{0x80}}, {R: base.X, S: base.Y}}
 }
 
 // couples are bodies and signatures of each sort; such a body need not be a certificate's.
@@ -353,7 +245,7 @@ func couples() []couple {
 	}
 	// Contents whose lengths take one, two and three bytes to say, and four.
 	for _, n := range []int{0, 1, 80, 90, 95, 96, 97, 98, 99, 100, 101, 102, 103, 104, 105, 126, 127, 128, 200, 227, 228, 229, 230, 231, 232, 233, 255, 256, 257, 65500, 65506, 65507, 65508, 65509, 65510, 65535, 65536, 1 << 20} {
-		l = append(l, couple{probe.Put(4, make([]byte, n)), api.Signature{R: small(1), S: small(1)}})
+		l = append(l, couple{probe.Put(4, make([]byte, n)), api.Signature{R: probe.Small(1), S: probe.Small(1)}})
 	}
 	return l
 }
@@ -361,22 +253,4 @@ func couples() []couple {
 // noElements are bytes that are not one element.
 func noElements() [][]byte {
 	return [][]byte{nil, {}, {5}, {0}, {0x30}, raw("05 00 00"), raw("05 00 05 00"), raw("30 00 30 00"), raw("05 01"), raw("04 02 07"), raw("1f 00"), raw("3f 01 00"), raw("ff 00"), raw("04 80 00 00"), raw("04 81 00"), raw("04 81 01 00"), raw("04 82 00 80"), raw("04 84 00 00 00 00"), raw("04 84 01 00 00 00"), raw("04 ff")}
-}
-
-// extBytes are an extension's.
-func extBytes(x api.Ext) []byte {
-	var critical []byte
-	if x.Critical {
-		critical = raw("01 01 ff")
-	}
-	return probe.Put(0x30, raw("06 03 55 1d"), []byte{byte(x.Id)}, critical, probe.Put(4, x.Value))
-}
-
-// extsBytes are those of extensions, however many.
-func extsBytes(l []api.Ext) []byte {
-	var all [][]byte
-	for _, x := range l {
-		all = append(all, extBytes(x))
-	}
-	return probe.Put(0x30, all...)
 }

@@ -14,6 +14,7 @@ import (
 
 	"chancery/api"
 	"chancery/cert"
+	"chancery/probe"
 )
 
 // template is what the library makes certificates of.
@@ -40,7 +41,7 @@ func made(t *testing.T, template, above *x509.Certificate, key any, signer crypt
 
 // P16.2 to P16.5: certificates that the library has made, of its own key and of another one.
 func TestLibraryMakes(t *testing.T) {
-	key, other := libraryKey(t, small(5)), libraryKey(t, small(6))
+	key, other := libraryKey(t, probe.Small(5)), libraryKey(t, probe.Small(6))
 	authority := template(0x80, "authority")
 	authority.IsCA, authority.BasicConstraintsValid, authority.KeyUsage = true, true, x509.KeyUsageCertSign
 	first, own := made(t, authority, authority, key.Public(), key)
@@ -52,8 +53,8 @@ func TestLibraryMakes(t *testing.T) {
 		b    []byte
 		want api.Cert
 	}{
-		{first, api.Cert{Serial: []byte{0x80}, Issuer: n, From: turn - 1, To: turn, Subject: n, Key: libraryPoint(t, small(5))}},
-		{second, api.Cert{Serial: []byte{0x40, 0, 0, 0, 0, 0, 0, 0}, Issuer: n, From: turn - 1, To: turn, Subject: append(n[:2:2], api.Attr{Type: 3, Value: "host"}), Key: libraryPoint(t, small(6))}},
+		{first, api.Cert{Serial: []byte{0x80}, Issuer: n, From: turn - 1, To: turn, Subject: n, Key: libraryPoint(t, probe.Small(5))}},
+		{second, api.Cert{Serial: []byte{0x40, 0, 0, 0, 0, 0, 0, 0}, Issuer: n, From: turn - 1, To: turn, Subject: append(n[:2:2], api.Attr{Type: 3, Value: "host"}), Key: libraryPoint(t, probe.Small(6))}},
 	} {
 		parsed, err := x509.ParseCertificate(c.b)
 		if err != nil {
@@ -69,18 +70,18 @@ func TestLibraryMakes(t *testing.T) {
 		if body := written(t, got); !bytes.Equal(body, parsed.RawTBSCertificate) {
 			t.Errorf("%x; want %x", body, parsed.RawTBSCertificate)
 		}
-		if again := signed(t, got, small(5)); !bytes.Equal(again, c.b) {
+		if again := signed(t, got, probe.Small(5)); !bytes.Equal(again, c.b) {
 			t.Errorf("%x; want %x", again, c.b)
 		}
-		by(t, "the authority's key", c.b, libraryPoint(t, small(5)), true)
-		by(t, "another key", c.b, libraryPoint(t, small(6)), false)
+		by(t, "the authority's key", c.b, libraryPoint(t, probe.Small(5)), true)
+		by(t, "another key", c.b, libraryPoint(t, probe.Small(6)), false)
 	}
 }
 
 // P16.4: certificates that the library makes, but of other keys, curves and digests, or of a name with two attributes in one: they are joined, or not even that, and no certificates here.
 func TestLibraryMakesOthers(t *testing.T) {
-	key := libraryKey(t, small(5))
-	q := libraryPoint(t, small(5))
+	key := libraryKey(t, probe.Small(5))
+	q := libraryPoint(t, probe.Small(5))
 	wide, err := ecdsa.ParseRawPrivateKey(elliptic.P384(), bytes.Repeat([]byte{5}, 48))
 	if err != nil {
 		t.Fatal(err)
@@ -124,9 +125,9 @@ func TestLibraryMakesOthers(t *testing.T) {
 
 // P16.4, P16.5: what Sign makes, the library reads and verifies.
 func TestLibraryReads(t *testing.T) {
-	d := small(5)
+	d := probe.Small(5)
 	authority := but(func(c *api.Cert) {
-		c.Serial, c.Subject, c.Key, c.Exts = serials()[38], named("a"), libraryPoint(t, d), []api.Ext{{Id: 19, Critical: true, Value: raw("30 03 01 01 ff")}, {Id: 15, Critical: true, Value: raw("03 02 02 04")}}
+		c.Serial, c.Subject, c.Key, c.Exts = serials()[38], probe.Named("a"), libraryPoint(t, d), []api.Ext{{Id: 19, Critical: true, Value: raw("30 03 01 01 ff")}, {Id: 15, Critical: true, Value: raw("03 02 02 04")}}
 	})
 	top, err := x509.ParseCertificate(signed(t, authority, d))
 	if err != nil {
@@ -137,7 +138,9 @@ func TestLibraryReads(t *testing.T) {
 			if i%7 != s[0]&3 {
 				continue
 			}
-			c := but(func(c *api.Cert) { c.Serial, c.From, c.To, c.Subject, c.Exts = serial, s[0], s[1], attrs(i%16), nil })
+			c := but(func(c *api.Cert) {
+				c.Serial, c.From, c.To, c.Subject, c.Exts = serial, s[0], s[1], probe.Attrs(i%16), nil
+			})
 			own, err := x509.ParseCertificate(signed(t, c, d))
 			if err != nil {
 				t.Fatal(err)

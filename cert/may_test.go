@@ -40,14 +40,14 @@ func TestMayOfTwo(t *testing.T) {
 	changes := []func(c *api.Cert){
 		func(c *api.Cert) { c.Serial = nil },
 		func(c *api.Cert) { c.Serial = []byte{0, 1} },
-		func(c *api.Cert) { c.Issuer = attrs(17) },
-		func(c *api.Cert) { c.Subject = named("") },
+		func(c *api.Cert) { c.Issuer = probe.Attrs(17) },
+		func(c *api.Cert) { c.Subject = probe.Named("") },
 		func(c *api.Cert) { c.From = 101 },
 		func(c *api.Cert) { c.From = api.MinTime - 1 },
 		func(c *api.Cert) { c.To = api.MaxTime + 1 },
-		func(c *api.Cert) { c.Key = far },
+		func(c *api.Cert) { c.Key = api.Point{Inf: true} },
 		func(c *api.Cert) { c.Key.X[0]++ },
-		func(c *api.Cert) { c.Exts = noLists()[0] },
+		func(c *api.Cert) { c.Exts = probe.NoExtLists()[0] },
 	}
 	for _, one := range changes {
 		for _, other := range changes {
@@ -92,8 +92,8 @@ func TestMayTimes(t *testing.T) {
 func TestMayCounts(t *testing.T) {
 	for n := range 40 {
 		for _, c := range []api.Cert{
-			but(func(c *api.Cert) { c.Issuer = attrs(n) }),
-			but(func(c *api.Cert) { c.Subject = attrs(n) }),
+			but(func(c *api.Cert) { c.Issuer = probe.Attrs(n) }),
+			but(func(c *api.Cert) { c.Subject = probe.Attrs(n) }),
 			but(func(c *api.Cert) { c.Exts = probe.ExtRow(n) }),
 		} {
 			if got := mayAsWords(t, c); got != (n <= 16) {
@@ -101,7 +101,7 @@ func TestMayCounts(t *testing.T) {
 			}
 		}
 	}
-	if c := but(func(c *api.Cert) { c.Exts = longLists() }); !mayAsWords(t, c) {
+	if c := but(func(c *api.Cert) { c.Exts = probe.LongExts() }); !mayAsWords(t, c) {
 		t.Error("the longest extensions may not be")
 	}
 }

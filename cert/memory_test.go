@@ -15,66 +15,39 @@ import (
 
 // roomy is a copy of a certificate with spare room behind its lists; left tells whether all of it is as it was.
 func roomy(c api.Cert) (given api.Cert, left func() bool) {
-	spare := api.Attr{Type: 3, Value: "spare"}
-	issuer, one := probe.RoomyWith([]api.Attr(c.Issuer), spare)
-	subject, two := probe.RoomyWith([]api.Attr(c.Subject), spare)
 	serial, leftSerial := probe.RoomyPieces(c.Serial)
+	issuer, leftIssuer := probe.RoomyName(c.Issuer)
+	subject, leftSubject := probe.RoomyName(c.Subject)
 	exts, leftExts := probe.RoomyExts(c.Exts)
-	wasOne, wasTwo := slices.Clone(one), slices.Clone(two)
 	given = c
 	given.Serial, given.Issuer, given.Subject, given.Exts = serial[0], issuer, subject, exts
-	return given, func() bool {
-		return leftSerial() && leftExts() && slices.Equal(one, wasOne) && slices.Equal(two, wasTwo)
-	}
+	return given, func() bool { return leftSerial() && leftIssuer() && leftSubject() && leftExts() }
 }
 
 // scribble writes over all lists of a certificate, and the spare room behind them.
 func scribble(c api.Cert) {
 	probe.Scribble(c.Serial, 0x77)
-	probe.Scribble(c.Issuer, api.Attr{Type: 11, Value: "scribbled"})
-	probe.Scribble(c.Subject, api.Attr{Type: 11, Value: "scribbled"})
+	probe.ScribbleName(c.Issuer)
+	probe.ScribbleName(c.Subject)
 	probe.ScribbleExts(c.Exts)
+}
+
+// writer is a call that writes certificates.
+func writer(what string, write func(c api.Cert) ([]byte, api.Errno)) probe.Writer[api.Cert] {
+	return probe.Writer[api.Cert]{What: what, Write: write, May: mayBe, Roomy: roomy, Scribble: scribble}
 }
 
 // P2: certificates are left as they are, spare room behind their lists too, those that may not be as well; nor does that room count, nor is anything kept.
 func TestCertsAreLeft(t *testing.T) {
+	sign := writer("Sign", func(c api.Cert) ([]byte, api.Errno) { return cert.Sign(c, probe.Small(5)) })
 	for i, c := range slices.Concat(goods(), wrongs()) {
-		given, left := roomy(c)
-		may := cert.May(given)
-		body, e1 := cert.Body(given)
-		was := bytes.Clone(body)
-		again, e2 := cert.Body(given)
-		if !left() || may != mayBe(c) || (e1 == api.OK) != may || e1 != e2 {
-			t.Fatalf("%.600s: left %t, may be %t, errors %d, %d", show(c), left(), may, e1, e2)
+		if given, left := roomy(c); cert.May(given) != mayBe(c) || !left() {
+			t.Fatalf("May(%.600s): left %t", show(c), left())
 		}
-		probe.Scribble(body, 0x55)
-		if !left() || !bytes.Equal(again, was) {
-			t.Fatalf("the bodies of %.600s share memory", show(c))
-		}
+		writer("Body", cert.Body).Own(t, c)
 		if i%9 == 0 {
-			signedIsOwn(t, c)
+			sign.Own(t, c)
 		}
-		scribble(given)
-		if !bytes.Equal(again, was) {
-			t.Fatalf("the body of %.600s shares its memory", show(c))
-		}
-	}
-}
-
-// signedIsOwn fails unless Sign leaves a certificate as it is, and answers memory of its own.
-func signedIsOwn(t *testing.T, c api.Cert) {
-	t.Helper()
-	given, left := roomy(c)
-	b, e1 := cert.Sign(given, small(5))
-	was := bytes.Clone(b)
-	again, e2 := cert.Sign(given, small(5))
-	probe.Scribble(b, 0x55)
-	if !left() || e1 != e2 || (e1 == api.OK) != mayBe(c) || !bytes.Equal(again, was) {
-		t.Fatalf("Sign of %.600s: left %t, errors %d, %d", show(c), left(), e1, e2)
-	}
-	scribble(given)
-	if !bytes.Equal(again, was) {
-		t.Fatalf("the bytes of %.600s share its memory", show(c))
 	}
 }
 
@@ -82,7 +55,7 @@ func signedIsOwn(t *testing.T, c api.Cert) {
 func TestBodiesAreLeft(t *testing.T) {
 	l := couples()
 	for _, b := range noElements() {
-		l = append(l, couple{b, api.Signature{R: small(1), S: small(1)}})
+		l = append(l, couple{b, api.Signature{R: probe.Small(1), S: probe.Small(1)}})
 	}
 	for _, c := range l {
 		given, left := probe.RoomyPieces(c.body)
@@ -103,46 +76,20 @@ func TestBodiesAreLeft(t *testing.T) {
 // P2: bytes are left as they are, spare room behind them too, those that are nothing's as well; what is read is memory of its own.
 func TestAnswersAreTheirOwn(t *testing.T) {
 	for _, f := range faces(t) {
-		f.ownOf(t)
-	}
-}
-
-func (r reader[T]) ownOf(t *testing.T) {
-	t.Helper()
-	for _, b := range r.samples {
-		want, _ := r.parse(b)
-		part, whole := probe.Roomy(b)
-		was := bytes.Clone(whole)
-		one, e1 := r.read(part)
-		two, e2 := r.read(part)
-		r.scribble(one)
-		three, e3 := r.read(part)
-		if !bytes.Equal(whole, was) {
-			t.Fatalf("%s: reading changes %.300x", r.what, b)
-		}
-		probe.Scribble(part, 0x55)
-		if e1 != api.OK || e2 != api.OK || e3 != api.OK || !r.same(two, want) || !r.same(three, want) {
-			t.Fatalf("%s: what is read of %.300x shares memory: %.300s, %.300s, errors %d, %d, %d", r.what, b, show(two), show(three), e1, e2, e3)
-		}
-		for _, near := range [][]byte{b[:len(b)-1], append(bytes.Clone(b), 0), b[1:]} {
-			given, left := probe.RoomyPieces(near)
-			if r.asLibrary(t, given[0]); !left() {
-				t.Fatalf("%s: reading changes %.300x", r.what, near)
-			}
-		}
+		f.Own(t)
 	}
 }
 
 // P2: Signed leaves the bytes as they are, spare room behind them too.
 func TestSignedLeaves(t *testing.T) {
 	for i, c := range few() {
-		b := joinedBytes(couple{bodyBytes(c), librarySignature(t, small(5), bodyBytes(c))})
+		b := joinedBytes(couple{bodyBytes(c), librarySignature(t, probe.Small(5), bodyBytes(c))})
 		if i%3 == 0 {
 			b[len(b)-1]++
 		}
 		given, left := probe.RoomyPieces(b)
-		one := cert.Signed(given[0], libraryPoint(t, small(5)))
-		if two := cert.Signed(given[0], libraryPoint(t, small(5))); !left() || one != two || one != (i%3 != 0) {
+		one := cert.Signed(given[0], libraryPoint(t, probe.Small(5)))
+		if two := cert.Signed(given[0], libraryPoint(t, probe.Small(5))); !left() || one != two || one != (i%3 != 0) {
 			t.Errorf("Signed(%.600x): left %t, %t, %t", b, left(), one, two)
 		}
 	}
@@ -151,16 +98,16 @@ func TestSignedLeaves(t *testing.T) {
 // P2: no two lists of one answer share memory: each may be written over, and made longer.
 func TestListsOfOneAnswer(t *testing.T) {
 	c := but(func(c *api.Cert) {
-		c.Serial, c.Issuer, c.Subject, c.Exts = serials()[30], attrs(5), attrs(6), probe.ExtRow(4)
+		c.Serial, c.Issuer, c.Subject, c.Exts = serials()[30], probe.Attrs(5), probe.Attrs(6), probe.ExtRow(4)
 	})
 	changes := []func(got *api.Cert){
 		func(got *api.Cert) { probe.Scribble(got.Serial, 0x77); got.Serial = nil },
 		func(got *api.Cert) {
-			probe.Scribble(got.Issuer, api.Attr{Type: 11, Value: "scribbled"})
+			probe.ScribbleName(got.Issuer)
 			got.Issuer = nil
 		},
 		func(got *api.Cert) {
-			probe.Scribble(got.Subject, api.Attr{Type: 11, Value: "scribbled"})
+			probe.ScribbleName(got.Subject)
 			got.Subject = nil
 		},
 		func(got *api.Cert) { probe.ScribbleExts(got.Exts); got.Exts = nil },
@@ -168,7 +115,7 @@ func TestListsOfOneAnswer(t *testing.T) {
 	empty := []func(want *api.Cert){
 		func(want *api.Cert) { want.Serial = nil }, func(want *api.Cert) { want.Issuer = nil }, func(want *api.Cert) { want.Subject = nil }, func(want *api.Cert) { want.Exts = nil },
 	}
-	b := signed(t, c, small(5))
+	b := signed(t, c, probe.Small(5))
 	for i, change := range changes {
 		for _, read := range []func() (api.Cert, api.Errno){
 			func() (api.Cert, api.Errno) { return cert.Decode(b) },
@@ -193,10 +140,10 @@ func TestNoLists(t *testing.T) {
 		notJoined(t, serial, api.Signature{}, api.ErrCert)
 		by(t, "nothing", serial, base, false)
 		for _, f := range all {
-			f.none(t, "no bytes", serial)
+			f.None(t, "no bytes", serial)
 		}
 	}
-	for _, n := range []api.Name{nil, {}, named("a")[:0]} {
+	for _, n := range []api.Name{nil, {}, probe.Named("a")[:0]} {
 		for _, l := range [][]api.Ext{nil, {}, probe.ExtRow(1)[:0]} {
 			has(t, api.Cert{Serial: []byte{5}, Issuer: n, Subject: n, Key: base, Exts: l}, want)
 		}
@@ -208,21 +155,21 @@ func TestNoLists(t *testing.T) {
 // P3, P5: the same is answered again, behind errors too, and no goroutine is left.
 func TestNothingIsKept(t *testing.T) {
 	before := runtime.NumGoroutine()
-	bad, q, r := wrongs(), public(t, small(5)), certReader(t)
+	bad, q, r := wrongs(), public(t, probe.Small(5)), certReader(t)
 	for i, c := range few() {
-		b := signed(t, c, small(5))
+		b := signed(t, c, probe.Small(5))
 		refuses(t, bad[i%len(bad)])
-		r.none(t, "one byte fewer", b[:len(b)-1])
+		r.None(t, "one byte fewer", b[:len(b)-1])
 		has(t, c, bodyBytes(c))
 		by(t, "another key", b, base, false)
 		by(t, "its key", b, q, true)
 		if _, e := cert.Sign(c, api.Digest{}); e != api.ErrKey {
 			t.Errorf("error %d", e)
 		}
-		if _, e := cert.Key(far); e != api.ErrPoint {
+		if _, e := cert.Key(api.Point{Inf: true}); e != api.ErrPoint {
 			t.Errorf("error %d", e)
 		}
-		if again := signed(t, c, small(5)); !bytes.Equal(again, b) {
+		if again := signed(t, c, probe.Small(5)); !bytes.Equal(again, b) {
 			t.Fatalf("%.600x, and again %.600x", b, again)
 		}
 		by(t, "its key", b, q, true)
@@ -239,12 +186,12 @@ func TestNothingIsKept(t *testing.T) {
 // P3: the same is answered to several that ask at once.
 func TestAtOnce(t *testing.T) {
 	var group sync.WaitGroup
-	q := public(t, small(5))
+	q := public(t, probe.Small(5))
 	for range 8 {
 		group.Go(func() {
 			c := but(func(c *api.Cert) { c.Exts = probe.ExtRow(5) })
 			for range 20 {
-				b, e1 := cert.Sign(c, small(5))
+				b, e1 := cert.Sign(c, probe.Small(5))
 				got, e2 := cert.Decode(b)
 				_, e3 := cert.Decode(b[1:])
 				_, e4 := cert.Body(api.Cert{})
@@ -265,7 +212,7 @@ func TestVeryLong(t *testing.T) {
 		long[0] = first
 		refuses(t, but(func(c *api.Cert) { c.Serial = long }))
 	}
-	refuses(t, but(func(c *api.Cert) { c.Issuer = named(string(long)) }))
+	refuses(t, but(func(c *api.Cert) { c.Issuer = probe.Named(string(long)) }))
 	refuses(t, but(func(c *api.Cert) { c.Exts = []api.Ext{{Id: 1, Value: long}} }))
 	refuses(t, but(func(c *api.Cert) { c.Exts = slices.Repeat(probe.ExtRow(1), 1<<20) }))
 }

@@ -9,16 +9,6 @@ import (
 	"chancery/probe"
 )
 
-// keys are those of each sort.
-func keys() []api.Digest {
-	return []api.Digest{small(1), small(2), small(5), {1}, {0x80}, plus(order, -2), plus(order, -1), base.X}
-}
-
-// noKeys are what is no key.
-func noKeys() []api.Digest {
-	return []api.Digest{{}, order, plus(order, 1), plus(order, 2), prime, allOnes}
-}
-
 // few are certificates of each sort, as many as can be signed in no long time.
 func few() []api.Cert {
 	l := []api.Cert{plain(), {Serial: []byte{1}, Key: base}}
@@ -47,7 +37,7 @@ func knownCerts() []string {
 func TestKnownCerts(t *testing.T) {
 	for i, digits := range knownCerts() {
 		c := knownBodies[i].c
-		if b := signed(t, c, small(5)); !bytes.Equal(b, raw(digits)) {
+		if b := signed(t, c, probe.Small(5)); !bytes.Equal(b, raw(digits)) {
 			t.Errorf("%.600s: %x", show(c), b)
 		}
 		if got, e := cert.Decode(raw(digits)); e != api.OK || !sameCert(got, c) {
@@ -59,7 +49,7 @@ func TestKnownCerts(t *testing.T) {
 // P16.4: as the library signs, with keys of each sort, its own certificates and others'.
 func TestSignByLibrary(t *testing.T) {
 	for i, c := range few() {
-		for j, d := range keys() {
+		for j, d := range probe.Keys() {
 			if (i+j)%3 > 0 && i > 3 {
 				continue
 			}
@@ -80,20 +70,20 @@ func TestSignByLibrary(t *testing.T) {
 
 // P16.4: the longest certificates.
 func TestSignLongest(t *testing.T) {
-	c := but(func(c *api.Cert) { c.Issuer, c.Subject, c.Exts = attrs(16), attrs(16), longLists() })
+	c := but(func(c *api.Cert) { c.Issuer, c.Subject, c.Exts = probe.Attrs(16), probe.Attrs(16), probe.LongExts() })
 	body := bodyBytes(c)
-	want := joinedBytes(couple{body, librarySignature(t, small(5), body)})
-	if b := signed(t, c, small(5)); !bytes.Equal(b, want) {
+	want := joinedBytes(couple{body, librarySignature(t, probe.Small(5), body)})
+	if b := signed(t, c, probe.Small(5)); !bytes.Equal(b, want) {
 		t.Errorf("%.600x", b)
 	}
-	if got, e := cert.Decode(want); e != api.OK || !sameCert(got, c) || !cert.Signed(want, libraryPoint(t, small(5))) {
+	if got, e := cert.Decode(want); e != api.OK || !sameCert(got, c) || !cert.Signed(want, libraryPoint(t, probe.Small(5))) {
 		t.Errorf("error %d", e)
 	}
 }
 
 // P16.4: what is no key; a certificate that may not be is told ahead of it.
 func TestSignErrors(t *testing.T) {
-	for _, d := range noKeys() {
+	for _, d := range probe.NoKeys() {
 		for _, c := range few()[:12] {
 			if b, e := cert.Sign(c, d); e != api.ErrKey || len(b) > 0 {
 				t.Errorf("Sign(%.600s, %x): %x, error %d", show(c), d, b, e)
@@ -127,19 +117,19 @@ func TestDecodeOfNone(t *testing.T) {
 	r := certReader(t)
 	for _, c := range couples() {
 		if _, ok := parseBody(c.body); !ok {
-			r.none(t, "joined of no body", joinedBytes(c))
+			r.None(t, "joined of no body", joinedBytes(c))
 		}
 	}
-	s := api.Signature{R: small(1), S: small(128)}
+	s := api.Signature{R: probe.Small(1), S: probe.Small(128)}
 	for i, part := range parted() {
 		for _, body := range [][]byte{with(i, part+"05 00"), with(i, "1"+part[1:]), with(i, part+part)} {
-			r.none(t, "joined of no body", joinedBytes(couple{body, s}))
+			r.None(t, "joined of no body", joinedBytes(couple{body, s}))
 		}
 	}
 	body := of(parted())
-	r.none(t, "a body alone", body)
-	r.none(t, "joined twice", joinedBytes(couple{joinedBytes(couple{body, s}), s}))
-	r.none(t, "a body without its head", probe.Put(0x30, body[3:], raw(ecdsaWithSHA256), raw("03 0a 00 30 07 02 01 01 02 02 00 80")))
-	r.none(t, "nothing", nil)
-	r.none(t, "an empty one", raw("30 00"))
+	r.None(t, "a body alone", body)
+	r.None(t, "joined twice", joinedBytes(couple{joinedBytes(couple{body, s}), s}))
+	r.None(t, "a body without its head", probe.Put(0x30, body[3:], raw(ecdsaWithSHA256), raw("03 0a 00 30 07 02 01 01 02 02 00 80")))
+	r.None(t, "nothing", nil)
+	r.None(t, "an empty one", raw("30 00"))
 }

@@ -19,22 +19,22 @@ func by(t *testing.T, what string, b []byte, q api.Point, want bool) {
 
 // P16.5: by the key that has signed, and by no other one, the certificate's own among them.
 func TestSigned(t *testing.T) {
-	for _, d := range keys() {
+	for _, d := range probe.Keys() {
 		own := but(func(c *api.Cert) { c.Key = libraryPoint(t, d) })
-		for _, c := range []api.Cert{own, plain(), {Serial: []byte{1}, Key: zeroPoint}} {
+		for _, c := range []api.Cert{own, plain(), {Serial: []byte{1}, Key: probe.ZeroPoint()}} {
 			body := bodyBytes(c)
 			b := joinedBytes(couple{body, librarySignature(t, d, body)})
-			for _, other := range keys() {
+			for _, other := range probe.Keys() {
 				by(t, "a key", b, libraryPoint(t, other), other == d)
 			}
-			by(t, "the point across", b, across(libraryPoint(t, d)), false)
+			by(t, "the point across", b, probe.Across(libraryPoint(t, d)), false)
 		}
 	}
 }
 
 // P16.5: any body that is one element, which need not be a certificate's; as the library has it.
 func TestSignedBodies(t *testing.T) {
-	d := small(5)
+	d := probe.Small(5)
 	q := libraryPoint(t, d)
 	for _, c := range couples() {
 		s := librarySignature(t, d, c.body)
@@ -50,7 +50,7 @@ func TestSignedBodies(t *testing.T) {
 
 // P16.5: of the body it is the element's bytes that are signed: its head too, nothing beside it.
 func TestSignedWhat(t *testing.T) {
-	d := small(5)
+	d := probe.Small(5)
 	q, body := libraryPoint(t, d), bodyBytes(plain())
 	for what, text := range map[string][]byte{
 		"the content":           body[3:],
@@ -70,7 +70,7 @@ func TestSignedWhat(t *testing.T) {
 
 // P16.5: one bit changed, anywhere in the bytes, in the point, in the signature.
 func TestSignedBits(t *testing.T) {
-	d := small(5)
+	d := probe.Small(5)
 	q := libraryPoint(t, d)
 	body := bodyBytes(plain())
 	s := librarySignature(t, d, body)
@@ -84,34 +84,34 @@ func TestSignedBits(t *testing.T) {
 		}
 	}
 	for bit := range 256 {
-		by(t, "a bit of R", joinedBytes(couple{body, api.Signature{R: turned(s.R, bit), S: s.S}}), q, false)
-		by(t, "a bit of S", joinedBytes(couple{body, api.Signature{R: s.R, S: turned(s.S, bit)}}), q, false)
-		by(t, "a bit of X", b, api.Point{X: turned(q.X, bit), Y: q.Y}, false)
-		by(t, "a bit of Y", b, api.Point{X: q.X, Y: turned(q.Y, bit)}, false)
+		by(t, "a bit of R", joinedBytes(couple{body, api.Signature{R: probe.Turned(s.R, bit), S: s.S}}), q, false)
+		by(t, "a bit of S", joinedBytes(couple{body, api.Signature{R: s.R, S: probe.Turned(s.S, bit)}}), q, false)
+		by(t, "a bit of X", b, api.Point{X: probe.Turned(q.X, bit), Y: q.Y}, false)
+		by(t, "a bit of Y", b, api.Point{X: q.X, Y: probe.Turned(q.Y, bit)}, false)
 	}
 }
 
 // P16.5: numbers that are no signature's, and points that are no key's.
 func TestSignedOfNone(t *testing.T) {
-	d := small(5)
+	d := probe.Small(5)
 	q := libraryPoint(t, d)
 	body := bodyBytes(plain())
 	s := librarySignature(t, d, body)
-	for _, x := range noKeys() {
+	for _, x := range probe.NoKeys() {
 		by(t, "R out of bounds", joinedBytes(couple{body, api.Signature{R: x, S: s.S}}), q, false)
 		by(t, "S out of bounds", joinedBytes(couple{body, api.Signature{R: s.R, S: x}}), q, false)
 		by(t, "both out of bounds", joinedBytes(couple{body, api.Signature{R: x, S: x}}), q, false)
 	}
 	by(t, "changed over", joinedBytes(couple{body, api.Signature{R: s.S, S: s.R}}), q, false)
 	b := joinedBytes(couple{body, s})
-	for _, p := range append(noPoints(), api.Point{X: q.X, Y: q.Y, Inf: true}) {
+	for _, p := range append(probe.NoPoints(), api.Point{X: q.X, Y: q.Y, Inf: true}) {
 		by(t, "no point", b, p, false)
 	}
 }
 
 // P16.5: what is not joined is signed by nobody.
 func TestSignedOfNotJoined(t *testing.T) {
-	d := small(5)
+	d := probe.Small(5)
 	q := libraryPoint(t, d)
 	for _, c := range []api.Cert{plain(), {Serial: []byte{1}, Key: base}} {
 		body := bodyBytes(c)

@@ -40,16 +40,16 @@ func TestToBasicPaths(t *testing.T) {
 	k := basics()
 	for path := -70000; path <= 70000; path++ {
 		integer := probe.Put(0x02, shortest(path))
-		if got := k.asLibrary(t, probe.Put(0x30, raw("01 01 ff"), integer)); got != (path >= 0 && path <= 100) {
+		if got := k.AsShould(t, probe.Put(0x30, raw("01 01 ff"), integer)); got != (path >= 0 && path <= 100) {
 			t.Errorf("the Path %d: %t", path, got)
 		}
 		if path > -200 && path < 200 {
-			k.noBytes(t, "a Path without CA", probe.Put(0x30, integer))
-			k.noBytes(t, "a Path without CA, false written", probe.Put(0x30, raw("01 01 00"), integer))
+			k.None(t, "a Path without CA", probe.Put(0x30, integer))
+			k.None(t, "a Path without CA, false written", probe.Put(0x30, raw("01 01 00"), integer))
 		}
 	}
 	for _, digits := range []string{"02 00", "02 02 00 05", "02 02 00 80", "02 02 ff ff", "02 03 00 00 05", "02 04 01 00 00 05", "02 05 01 00 00 00 05", "02 08 7f ff ff ff ff ff ff ff", "02 08 80 00 00 00 00 00 00 00", "02 09 00 80 00 00 00 00 00 00 05", "02 09 01 00 00 00 00 00 00 00 05", "02 09 ff 00 00 00 00 00 00 00 05", "02 81 01 05"} {
-		k.noBytes(t, "another Path", probe.Put(0x30, raw("01 01 ff"), raw(digits)))
+		k.None(t, "another Path", probe.Put(0x30, raw("01 01 ff"), raw(digits)))
 	}
 }
 
@@ -112,7 +112,7 @@ func TestNoBasic(t *testing.T) {
 		"01 01 ff 02 01 05":                "what stands in it alone",
 		"30 08 30 06 01 01 ff 02 01 05":    "an element too many around it",
 	} {
-		basics().noBytes(t, what, raw(digits))
+		basics().None(t, what, raw(digits))
 	}
 }
 
@@ -121,7 +121,7 @@ func TestToBasicOfFew(t *testing.T) {
 	k := basics()
 	taken := 0
 	for b := range probe.Short([]byte{0x00, 0x01, 0x02, 0x05, 0x64, 0x65, 0xff}, 6) {
-		if k.asLibrary(t, probe.Put(0x30, b)) {
+		if k.AsShould(t, probe.Put(0x30, b)) {
 			taken++
 		}
 	}

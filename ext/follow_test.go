@@ -55,7 +55,7 @@ func (k kind[T]) back(t *testing.T, v T, draws *probe.Draws) {
 	b, _ := k.write(v)
 	for range 10 {
 		near := []byte(draws.Changed(string(b), "\x00\x01\x02\x03\x04\x06\x13\x30\x55\x1d\x80\x81\x82\x87\xa0\xa1\xa4\xffaz"))
-		k.asLibrary(t, near)
+		k.AsShould(t, near)
 		if got, e := k.read(near); e == api.OK {
 			if again, e := k.write(got); e != api.OK || !bytes.Equal(again, near) {
 				t.Fatalf("%s: %.300x, read as %.300q, is written as %.300x, error %d", k.what, near, show(got), again, e)

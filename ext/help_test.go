@@ -55,13 +55,34 @@ func (k kind[T]) refuses(t *testing.T, v T) {
 	}
 }
 
-// noBytes fails unless bytes are no value's, and nothing stands beside the error.
-func (k kind[T]) noBytes(t *testing.T, what string, b []byte) {
-	t.Helper()
-	var none T
-	if got, e := k.read(b); e != api.ErrExt || !k.same(got, none) {
-		t.Errorf("%s, %s: %.300x is read as %.300q, error %d", k.what, what, b, show(got), e)
+// reader is its call that reads.
+func (k kind[T]) reader() probe.Reader[T] {
+	return probe.Reader[T]{What: k.what, Wrong: api.ErrExt, Read: k.read, Parse: k.taken, Same: k.same, Scribble: k.scribble}
+}
+
+func (k kind[T]) Name() string                             { return k.what }
+func (k kind[T]) Is(b []byte) bool                         { return k.reader().Is(b) }
+func (k kind[T]) AsShould(t probe.Test, b []byte) bool     { return k.reader().AsShould(t, b) }
+func (k kind[T]) None(t probe.Test, what string, b []byte) { k.reader().None(t, what, b) }
+
+// Some are the bytes of each value of each sort that may be, by the library.
+func (k kind[T]) Some() [][]byte {
+	var l [][]byte
+	for _, v := range k.goods {
+		b, err := k.bytes(v)
+		if err != nil {
+			panic(err)
+		}
+		l = append(l, b)
 	}
+	return l
+}
+
+func (k kind[T]) Own(t probe.Test) {
+	t.Helper()
+	r := k.reader()
+	r.Samples = k.Some()
+	r.Own(t)
 }
 
 // asWords fails unless a value is written as it should be, if it may be.
@@ -79,20 +100,6 @@ func (k kind[T]) asWords(t *testing.T, v T) bool {
 	return true
 }
 
-// asLibrary fails unless bytes are read as they should be; it tells whether they are taken.
-func (k kind[T]) asLibrary(t *testing.T, b []byte) bool {
-	t.Helper()
-	want, ok := k.taken(b)
-	wrong := api.OK
-	if !ok {
-		wrong = api.ErrExt
-	}
-	if got, e := k.read(b); e != wrong || !k.same(got, want) {
-		t.Fatalf("%s: %.600x is read as %.600q, error %d; want %.600q, error %d", k.what, b, show(got), e, show(want), wrong)
-	}
-	return ok
-}
-
 // sortsOf fails unless each value of each sort is written as it should be, or refused.
 func (k kind[T]) sortsOf(t *testing.T) {
 	t.Helper()
@@ -108,31 +115,11 @@ func (k kind[T]) sortsOf(t *testing.T) {
 	}
 }
 
-// samples are the bytes of each value of each sort that may be, by the library.
-func (k kind[T]) samples(t *testing.T) [][]byte {
-	t.Helper()
-	var l [][]byte
-	for _, v := range k.goods {
-		b, err := k.bytes(v)
-		if err != nil {
-			t.Fatal(k.what, err)
-		}
-		l = append(l, b)
-	}
-	return l
-}
-
-func (k kind[T]) name() string { return k.what }
-
 // face is a kind of values, whatever they are.
 type face interface {
-	name() string
-	samples(t *testing.T) [][]byte
-	asLibrary(t *testing.T, b []byte) bool
-	noBytes(t *testing.T, what string, b []byte)
+	probe.Face
 	sortsOf(t *testing.T)        // that what is of each sort is written, or not
 	argumentsOf(t *testing.T)    // that arguments are left, and not kept
-	answersOf(t *testing.T)      // that answers are memory of their own
 	againOf(t *testing.T)        // that the same is answered again
 	thereAndBackOf(t *testing.T) // that what is read of bytes that were written is what was written
 }

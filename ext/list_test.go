@@ -50,7 +50,7 @@ func TestExtCounts(t *testing.T) {
 			t.Errorf("%d extensions: %t", n, got)
 		}
 		b, _ := k.bytes(probe.ExtRow(n))
-		if got := k.asLibrary(t, b); got != (n >= 1 && n <= 16) {
+		if got := k.AsShould(t, b); got != (n >= 1 && n <= 16) {
 			t.Errorf("the bytes of %d extensions: %t", n, got)
 		}
 	}
@@ -80,14 +80,14 @@ func TestExtIds(t *testing.T) {
 			if err != nil {
 				t.Fatal(err)
 			}
-			if got := k.asLibrary(t, b); got != may {
+			if got := k.AsShould(t, b); got != may {
 				t.Errorf("the bytes of the Id %d: %t", id, got)
 			}
 		}
 	}
 	for _, id := range []int{1 << 14, 1<<16 + 19, 1<<31 - 1} {
 		b, _ := k.bytes([]api.Ext{{Id: id}})
-		k.noBytes(t, "a great Id", b)
+		k.None(t, "a great Id", b)
 	}
 }
 
@@ -101,11 +101,11 @@ func TestExtTwice(t *testing.T) {
 				l[i].Id = l[j].Id
 				k.refuses(t, l)
 				b, _ := k.bytes(l)
-				k.noBytes(t, "an Id twice", b)
+				k.None(t, "an Id twice", b)
 				l[i] = l[j]
 				k.refuses(t, l)
 				b, _ = k.bytes(l)
-				k.noBytes(t, "an extension twice", b)
+				k.None(t, "an extension twice", b)
 			}
 		}
 	}
@@ -134,7 +134,7 @@ func TestExtValues(t *testing.T) {
 			l[i].Value = make([]byte, more)
 			k.refuses(t, l)
 			b, _ = k.bytes(l)
-			k.noBytes(t, "a Value too long", b)
+			k.None(t, "a Value too long", b)
 		}
 	}
 	l := probe.ExtRow(16)
@@ -213,7 +213,7 @@ func TestNoExts(t *testing.T) {
 		"30 08 30 06 06 01 2a 04 01 01":                                     "another object identifier",
 		"30 10 30 0e 06 09 2b 06 01 05 05 07 03 55 13 04 01 01":             "another object identifier",
 	} {
-		k.noBytes(t, what, raw(digits))
+		k.None(t, what, raw(digits))
 	}
 }
 

@@ -22,55 +22,14 @@ func TestArgumentsAreLeft(t *testing.T) {
 
 func (k kind[T]) argumentsOf(t *testing.T) {
 	t.Helper()
-	for _, v := range slices.Concat(k.goods, k.wrongs) {
-		given, left := k.roomy(v)
-		b, e := k.write(given)
-		if !left() {
-			t.Fatalf("%s: writing changes %.300q", k.what, show(v))
-		}
-		was := bytes.Clone(b)
-		again, _ := k.write(given)
-		probe.Scribble(b, 0x55)
-		if !left() || !bytes.Equal(again, was) {
-			t.Fatalf("%s: the bytes of %.300q share memory", k.what, show(v))
-		}
-		k.scribble(given)
-		if !bytes.Equal(again, was) || e == api.OK != k.may(v) {
-			t.Fatalf("%s: the bytes of %.300q share its memory, error %d", k.what, show(v), e)
-		}
-	}
+	w := probe.Writer[T]{What: k.what, Write: k.write, May: k.may, Roomy: k.roomy, Scribble: k.scribble}
+	w.Own(t, slices.Concat(k.goods, k.wrongs)...)
 }
 
 // P2: bytes are left as they are, spare room behind them too, those that are nothing's as well; what is read is memory of its own.
 func TestAnswersAreTheirOwn(t *testing.T) {
 	for _, f := range faces() {
-		f.answersOf(t)
-	}
-}
-
-func (k kind[T]) answersOf(t *testing.T) {
-	t.Helper()
-	for i, b := range k.samples(t) {
-		want := k.goods[i]
-		part, whole := probe.Roomy(b)
-		was := bytes.Clone(whole)
-		one, e1 := k.read(part)
-		two, e2 := k.read(part)
-		k.scribble(one)
-		three, e3 := k.read(part)
-		if !bytes.Equal(whole, was) {
-			t.Fatalf("%s: reading changes %.300x", k.what, b)
-		}
-		probe.Scribble(part, 0x55)
-		if e1 != api.OK || e2 != api.OK || e3 != api.OK || !k.same(two, want) || !k.same(three, want) {
-			t.Fatalf("%s: what is read of %.300x shares memory: %.300q, %.300q, errors %d, %d, %d", k.what, b, show(two), show(three), e1, e2, e3)
-		}
-		for _, near := range [][]byte{b[:len(b)-1], append(bytes.Clone(b), 0), b[1:]} {
-			given, left := probe.RoomyPieces(near)
-			if k.asLibrary(t, given[0]); !left() {
-				t.Fatalf("%s: reading changes %.300x", k.what, near)
-			}
-		}
+		f.Own(t)
 	}
 }
 
@@ -153,7 +112,7 @@ func TestNoLists(t *testing.T) {
 	for _, none := range [][]byte{nil, {}, []byte("a")[:0]} {
 		exts().takes(t, []api.Ext{{Id: 19, Value: none}}, raw("30 09 30 07 06 03 55 1d 13 04 00"))
 		for _, f := range faces() {
-			f.noBytes(t, "no bytes", none)
+			f.None(t, "no bytes", none)
 		}
 		if x, found := ext.Find([]api.Ext{{Id: 19, Value: none}}, 19); !found || !probe.SameExt(x, api.Ext{Id: 19}) {
 			t.Errorf("%q, %t", show(x), found)
@@ -187,16 +146,16 @@ func TestNothingIsKept(t *testing.T) {
 
 func (k kind[T]) againOf(t *testing.T) {
 	t.Helper()
-	l := k.samples(t)
+	l := k.Some()
 	for i := range 40 {
 		v, b := k.goods[i%len(l)], l[i%len(l)]
-		k.noBytes(t, "one byte fewer", b[:len(b)-1])
+		k.None(t, "one byte fewer", b[:len(b)-1])
 		k.takes(t, v, b)
 		if len(k.wrongs) > 0 {
 			k.refuses(t, k.wrongs[i%len(k.wrongs)])
 		}
 		k.takes(t, v, b)
-		k.noBytes(t, "one byte more", append(bytes.Clone(b), 0))
+		k.None(t, "one byte more", append(bytes.Clone(b), 0))
 		k.takes(t, v, b)
 	}
 }

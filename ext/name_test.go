@@ -60,7 +60,7 @@ func TestNamesCounts(t *testing.T) {
 			if err != nil {
 				t.Fatal(err)
 			}
-			if got := k.asLibrary(t, b); got != may {
+			if got := k.AsShould(t, b); got != may {
 				t.Errorf("the bytes of %d names of the kind %d: %t", n, g.Kind, got)
 			}
 			if !may {
@@ -72,7 +72,7 @@ func TestNamesCounts(t *testing.T) {
 					l[i] = wrong
 					k.refuses(t, l)
 					b, _ := k.bytes(l)
-					k.noBytes(t, "one that may not be", b)
+					k.None(t, "one that may not be", b)
 				}
 			}
 		}
@@ -90,9 +90,9 @@ func TestToNamesThatMayNotBe(t *testing.T) {
 		if g.Kind == 4 {
 			one[0] = 0xa4
 		}
-		k.noBytes(t, "one that may not be", probe.Put(0x30, one))
-		k.noBytes(t, "one that may not be, ahead", probe.Put(0x30, one, raw("82 01 61")))
-		k.noBytes(t, "one that may not be, behind", probe.Put(0x30, raw("82 01 61"), one))
+		k.None(t, "one that may not be", probe.Put(0x30, one))
+		k.None(t, "one that may not be, ahead", probe.Put(0x30, one, raw("82 01 61")))
+		k.None(t, "one that may not be, behind", probe.Put(0x30, raw("82 01 61"), one))
 	}
 }
 
@@ -102,11 +102,11 @@ func TestToNamesTags(t *testing.T) {
 	taken := map[int]int{}
 	for tag := range 256 {
 		for _, text := range []string{"a", "a.b", "a@b", "*.a.b", "abcd", "\x30\x00", nameBytes("C=DE"), strings.Repeat("\x00", 16), "", "\x82\x01a", strings.Repeat("\x00", 8)} {
-			if k.asLibrary(t, probe.Put(0x30, probe.Put(byte(tag), []byte(text)))) {
+			if k.AsShould(t, probe.Put(0x30, probe.Put(byte(tag), []byte(text)))) {
 				taken[tag]++
 			}
-			k.asLibrary(t, probe.Put(0x30, raw("82 01 61"), probe.Put(byte(tag), []byte(text))))
-			k.asLibrary(t, probe.Put(0x30, probe.Put(byte(tag), []byte(text)), raw("82 01 61")))
+			k.AsShould(t, probe.Put(0x30, raw("82 01 61"), probe.Put(byte(tag), []byte(text))))
+			k.AsShould(t, probe.Put(0x30, probe.Put(byte(tag), []byte(text)), raw("82 01 61")))
 		}
 	}
 	if len(taken) != 4 || taken[0x81] != 1 || taken[0x82] != 4 || taken[0x87] != 2 || taken[0xa4] != 2 {
@@ -160,7 +160,7 @@ func TestNoNames(t *testing.T) {
 		"30 06 82 01 61 82 01 2d":             "the second one may not be",
 		"30 06 82 01 61 83 01 61":             "the second one of another tag",
 	} {
-		names().noBytes(t, what, raw(digits))
+		names().None(t, what, raw(digits))
 	}
 }
 
@@ -169,10 +169,10 @@ func TestToNamesOfFew(t *testing.T) {
 	k := names()
 	taken := 0
 	for b := range probe.Short([]byte{0x00, 0x01, 0x02, 0x30, 0x61, 0x82, 0xa4}, 5) {
-		if k.asLibrary(t, probe.Put(0x30, b)) {
+		if k.AsShould(t, probe.Put(0x30, b)) {
 			taken++
 		}
-		k.asLibrary(t, b)
+		k.AsShould(t, b)
 	}
 	if taken < 5 {
 		t.Errorf("only %d are taken", taken)

@@ -86,10 +86,10 @@ func TestNoNumber(t *testing.T) {
 		"30 03 02 01 05":                      "an element around it",
 		"05":                                  "a content alone",
 	} {
-		numbers().noBytes(t, what, raw(digits))
+		numbers().None(t, what, raw(digits))
 	}
-	numbers().noBytes(t, "a very great number", probe.Put(0x02, []byte{1}, make([]byte, 1<<20)))
-	numbers().noBytes(t, "a number of 20 bytes", probe.Put(0x02, slices.Repeat([]byte{0x11}, 20)))
+	numbers().None(t, "a very great number", probe.Put(0x02, []byte{1}, make([]byte, 1<<20)))
+	numbers().None(t, "a number of 20 bytes", probe.Put(0x02, slices.Repeat([]byte{0x11}, 20)))
 }
 
 // P15.2, P15.3: reasons that are written out: each number from -1 to 11.
@@ -99,7 +99,7 @@ func TestKnownReason(t *testing.T) {
 		b := []byte{0x0a, 1, byte(n)}
 		if n == -1 || n == 7 || n == 11 {
 			k.refuses(t, n)
-			k.noBytes(t, "no reason", b)
+			k.None(t, "no reason", b)
 			continue
 		}
 		k.takes(t, n, b)
@@ -149,7 +149,7 @@ func TestNoReason(t *testing.T) {
 		"30 03 0a 01 01":                   "an element around it",
 		"01":                               "a content alone",
 	} {
-		reasons().noBytes(t, what, raw(digits))
+		reasons().None(t, what, raw(digits))
 	}
 }
 
@@ -158,10 +158,10 @@ func TestToIntegersOfFew(t *testing.T) {
 	number, reason := numbers(), reasons()
 	var taken [2]int
 	try := func(content ...byte) {
-		if number.asLibrary(t, probe.Put(0x02, content)) {
+		if number.AsShould(t, probe.Put(0x02, content)) {
 			taken[0]++
 		}
-		if reason.asLibrary(t, probe.Put(0x0a, content)) {
+		if reason.AsShould(t, probe.Put(0x0a, content)) {
 			taken[1]++
 		}
 	}
@@ -178,8 +178,8 @@ func TestToIntegersOfFew(t *testing.T) {
 		try(b...)
 		try(append(raw("00 80 00 00"), b...)...)
 		try(append(raw("7f ff ff ff ff"), b...)...)
-		number.asLibrary(t, b)
-		reason.asLibrary(t, b)
+		number.AsShould(t, b)
+		reason.AsShould(t, b)
 	}
 }
 
@@ -200,16 +200,16 @@ func TestKnownKeys(t *testing.T) {
 func TestKeyLengths(t *testing.T) {
 	for n := range 300 {
 		id := slices.Repeat([]byte{0x5a}, n)
-		if got := subjects().asLibrary(t, probe.Put(0x04, id)); got != (n == 20) {
+		if got := subjects().AsShould(t, probe.Put(0x04, id)); got != (n == 20) {
 			t.Errorf("Subject of %d bytes: %t", n, got)
 		}
-		if got := issuers().asLibrary(t, probe.Put(0x30, probe.Put(0x80, id))); got != (n == 20) {
+		if got := issuers().AsShould(t, probe.Put(0x30, probe.Put(0x80, id))); got != (n == 20) {
 			t.Errorf("Issuer of %d bytes: %t", n, got)
 		}
 	}
 	for _, id := range [][]byte{make([]byte, 19), make([]byte, 21), make([]byte, 0), make([]byte, 256+20), make([]byte, 1<<16+20)} {
-		subjects().noBytes(t, "another length", probe.Put(0x04, id))
-		issuers().noBytes(t, "another length", probe.Put(0x30, probe.Put(0x80, id)))
+		subjects().None(t, "another length", probe.Put(0x04, id))
+		issuers().None(t, "another length", probe.Put(0x30, probe.Put(0x80, id)))
 	}
 }
 
@@ -235,7 +235,7 @@ func TestNoKeys(t *testing.T) {
 		"04 14" + id + "04 14" + id: "twice",
 		id:                          "a content alone",
 	} {
-		subjects().noBytes(t, what, raw(digits))
+		subjects().None(t, what, raw(digits))
 	}
 	issuers().takes(t, api.KeyId(raw(id)), raw("30168014"+id))
 	for digits, what := range map[string]string{
@@ -261,7 +261,7 @@ func TestNoKeys(t *testing.T) {
 		"04 14" + id:                          "Subject",
 		"30 18 30 16 80 14" + id:              "an element around it",
 	} {
-		issuers().noBytes(t, what, raw(digits))
+		issuers().None(t, what, raw(digits))
 	}
 }
 

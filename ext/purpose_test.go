@@ -50,14 +50,14 @@ func TestPurposesNumbers(t *testing.T) {
 			if err != nil {
 				t.Fatal(err)
 			}
-			if got := k.asLibrary(t, b); got != may {
+			if got := k.AsShould(t, b); got != may {
 				t.Errorf("the bytes of %d: %t", l, got)
 			}
 		}
 	}
 	for _, n := range []int{1 << 14, 1<<16 + 1, 1<<31 - 1} {
 		b, _ := k.bytes([]int{n})
-		k.noBytes(t, "a great number", b)
+		k.None(t, "a great number", b)
 	}
 }
 
@@ -76,7 +76,7 @@ func TestPurposesCounts(t *testing.T) {
 		if err != nil {
 			t.Fatal(err)
 		}
-		if got := k.asLibrary(t, b); got != (n >= 1 && n <= 16) {
+		if got := k.AsShould(t, b); got != (n >= 1 && n <= 16) {
 			t.Errorf("the bytes of %d purposes: %t", n, got)
 		}
 		if n > 16 {
@@ -88,7 +88,7 @@ func TestPurposesCounts(t *testing.T) {
 				twice[i] = l[j]
 				k.refuses(t, twice)
 				b, _ := k.bytes(twice)
-				k.noBytes(t, "one twice", b)
+				k.None(t, "one twice", b)
 			}
 		}
 	}
@@ -135,7 +135,7 @@ func TestNoPurposes(t *testing.T) {
 		"30 0c 30 0a" + one:                             "an element too many around it",
 		"30 14" + one + "06 08 2b 06 01 05 05 07 03 00": "the second one not",
 	} {
-		purposes().noBytes(t, what, raw(digits))
+		purposes().None(t, what, raw(digits))
 	}
 }
 
@@ -146,15 +146,15 @@ func TestToPurposesNear(t *testing.T) {
 		for x := range 256 {
 			b := purposeBytes(5)
 			b[at] = byte(x)
-			k.asLibrary(t, probe.Put(0x30, b))
-			k.asLibrary(t, probe.Put(0x30, purposeBytes(6), b))
-			k.asLibrary(t, probe.Put(0x30, b, purposeBytes(6)))
+			k.AsShould(t, probe.Put(0x30, b))
+			k.AsShould(t, probe.Put(0x30, purposeBytes(6), b))
+			k.AsShould(t, probe.Put(0x30, b, purposeBytes(6)))
 		}
 	}
 	for b := range probe.Short([]byte{0x00, 0x01, 0x03, 0x06, 0x7f, 0x80, 0x81, 0xff}, 4) {
-		k.asLibrary(t, probe.Put(0x30, probe.Put(0x06, b)))
-		k.asLibrary(t, probe.Put(0x30, probe.Put(0x06, raw("2b 06 01 05 05 07 03"), b)))
-		k.asLibrary(t, probe.Put(0x30, purposeBytes(5), probe.Put(0x06, raw("2b 06 01 05 05 07 03"), b)))
-		k.asLibrary(t, probe.Put(0x30, b))
+		k.AsShould(t, probe.Put(0x30, probe.Put(0x06, b)))
+		k.AsShould(t, probe.Put(0x30, probe.Put(0x06, raw("2b 06 01 05 05 07 03"), b)))
+		k.AsShould(t, probe.Put(0x30, purposeBytes(5), probe.Put(0x06, raw("2b 06 01 05 05 07 03"), b)))
+		k.AsShould(t, probe.Put(0x30, b))
 	}
 }

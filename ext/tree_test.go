@@ -59,7 +59,7 @@ func TestTreesCounts(t *testing.T) {
 			if err != nil {
 				t.Fatal(err)
 			}
-			if got := k.asLibrary(t, all); got != may {
+			if got := k.AsShould(t, all); got != may {
 				t.Errorf("the bytes of %d permitted, %d excluded: %t", n, m, got)
 			}
 		}
@@ -77,7 +77,7 @@ func TestTreesThatMayNotBe(t *testing.T) {
 			for _, v := range []api.Trees{{Permitted: bad}, {Excluded: bad}, {Permitted: bad, Excluded: good}, {Permitted: good, Excluded: bad}, {Permitted: bad[:i+1]}, {Permitted: good[:1], Excluded: bad[:i+1]}} {
 				k.refuses(t, v)
 				b, _ := k.bytes(v)
-				k.noBytes(t, "one that may not be", b)
+				k.None(t, "one that may not be", b)
 			}
 		}
 	}
@@ -90,9 +90,9 @@ func TestTreesThatMayNotBe(t *testing.T) {
 			one[0] = 0xa4
 		}
 		for _, side := range []byte{0xa0, 0xa1} {
-			k.noBytes(t, "one that may not be", probe.Put(0x30, probe.Put(side, probe.Put(0x30, one))))
-			k.noBytes(t, "one that may not be, behind", probe.Put(0x30, probe.Put(side, raw("30 03 82 01 61"), probe.Put(0x30, one))))
-			k.noBytes(t, "one that may not be, ahead", probe.Put(0x30, probe.Put(side, probe.Put(0x30, one), raw("30 03 82 01 61"))))
+			k.None(t, "one that may not be", probe.Put(0x30, probe.Put(side, probe.Put(0x30, one))))
+			k.None(t, "one that may not be, behind", probe.Put(0x30, probe.Put(side, raw("30 03 82 01 61"), probe.Put(0x30, one))))
+			k.None(t, "one that may not be, ahead", probe.Put(0x30, probe.Put(side, probe.Put(0x30, one), raw("30 03 82 01 61"))))
 		}
 	}
 }
@@ -103,14 +103,14 @@ func TestToTreesTags(t *testing.T) {
 	sides, inner := map[int]int{}, map[int]int{}
 	for tag := range 256 {
 		x := byte(tag)
-		if k.asLibrary(t, probe.Put(0x30, probe.Put(x, raw("30 03 82 01 61")))) {
+		if k.AsShould(t, probe.Put(0x30, probe.Put(x, raw("30 03 82 01 61")))) {
 			sides[tag]++
 		}
-		k.asLibrary(t, probe.Put(x, probe.Put(0xa0, raw("30 03 82 01 61"))))
-		k.asLibrary(t, probe.Put(0x30, probe.Put(0xa0, probe.Put(x, raw("82 01 61")))))
-		k.asLibrary(t, probe.Put(0x30, probe.Put(0xa0, raw("30 03 82 01 61")), probe.Put(x, raw("30 03 82 01 61"))))
+		k.AsShould(t, probe.Put(x, probe.Put(0xa0, raw("30 03 82 01 61"))))
+		k.AsShould(t, probe.Put(0x30, probe.Put(0xa0, probe.Put(x, raw("82 01 61")))))
+		k.AsShould(t, probe.Put(0x30, probe.Put(0xa0, raw("30 03 82 01 61")), probe.Put(x, raw("30 03 82 01 61"))))
 		for _, base := range []string{"a", ".a", "a@b", "*.a.b", "abcd", "\x30\x00", strings.Repeat("\x00", 8), strings.Repeat("\x00", 32), strings.Repeat("\x00", 16), ""} {
-			if k.asLibrary(t, probe.Put(0x30, probe.Put(0xa1, probe.Put(0x30, probe.Put(x, []byte(base)))))) {
+			if k.AsShould(t, probe.Put(0x30, probe.Put(0xa1, probe.Put(0x30, probe.Put(x, []byte(base)))))) {
 				inner[tag]++
 			}
 		}
@@ -173,7 +173,7 @@ func TestNoTrees(t *testing.T) {
 		"30 03 82 01 61":                                                       "a subtree alone",
 		"30 09 30 07 a0 05 30 03 82 01 61":                                     "an element too many around it",
 	} {
-		trees().noBytes(t, what, raw(digits))
+		trees().None(t, what, raw(digits))
 	}
 }
 
@@ -183,7 +183,7 @@ func TestToTreesOfFew(t *testing.T) {
 	taken := 0
 	for b := range probe.Short([]byte{0x00, 0x01, 0x02, 0x30, 0x61, 0x82, 0xa0, 0xa4}, 4) {
 		for _, c := range [][]byte{probe.Put(0x30, b), probe.Put(0x30, probe.Put(0xa0, b)), probe.Put(0x30, probe.Put(0xa1, probe.Put(0x30, b))), probe.Put(0x30, probe.Put(0xa0, probe.Put(0x30, b)), probe.Put(0xa1, raw("30 03 82 01 61"))), probe.Put(0x30, probe.Put(0xa0, raw("30 03 82 01 61"), b))} {
-			if k.asLibrary(t, c) {
+			if k.AsShould(t, c) {
 				taken++
 			}
 		}

@@ -51,7 +51,7 @@ func TestToUsageContents(t *testing.T) {
 	k := usages()
 	taken := 0
 	try := func(content ...byte) {
-		if k.asLibrary(t, probe.Put(0x03, content)) {
+		if k.AsShould(t, probe.Put(0x03, content)) {
 			taken++
 		}
 	}
@@ -73,7 +73,7 @@ func TestToUsageContents(t *testing.T) {
 	}
 	for unused := range 9 {
 		for _, bits := range []string{"00 00 01", "00 00 80", "80 00 00", "80 80 80", "ff ff ff", "ff 80 00", "80 00 00 00 00 00 00 80"} {
-			k.noBytes(t, "more bytes", probe.Put(0x03, []byte{byte(unused)}, raw(bits)))
+			k.None(t, "more bytes", probe.Put(0x03, []byte{byte(unused)}, raw(bits)))
 		}
 	}
 }
@@ -111,7 +111,7 @@ func TestNoUsage(t *testing.T) {
 		"30 04 03 02 07 80": "an element too many around it",
 		"07 80":             "a content alone",
 	} {
-		usages().noBytes(t, what, raw(digits))
+		usages().None(t, what, raw(digits))
 	}
 }
 
@@ -120,7 +120,7 @@ func TestToUsageOfFew(t *testing.T) {
 	k := usages()
 	taken := 0
 	for b := range probe.Short([]byte{0x00, 0x01, 0x02, 0x03, 0x07, 0x80, 0xff}, 6) {
-		if k.asLibrary(t, b) {
+		if k.AsShould(t, b) {
 			taken++
 		}
 	}
